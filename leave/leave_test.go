@@ -1,7 +1,6 @@
 package leave_test
 
 import (
-	"math/rand"
 	"slices"
 	"strings"
 	"testing"
@@ -331,67 +330,5 @@ func TestOneBehindAnother(t *testing.T) {
 func TestBound(t *testing.T) {
 	if leave.Bound() != 36 {
 		t.Errorf("Bound is %d", leave.Bound())
-	}
-}
-
-// anyTold tells what may be told, right or not; often what lets one go on.
-func anyTold(chance *rand.Rand) kv.Result {
-	vals := []string{pending, confirmed, leaving, leaving, blockOf("n1", 0), blockOf("n1", 3), blockOf("n2", 1), blockOf("", 0), "", "A\x09"}
-	r := kv.Result{Rev: int64(chance.Intn(3)) - 1, Val: vals[chance.Intn(len(vals))]}
-	if chance.Intn(5) == 0 {
-		r.Code = api.Errno(chance.Intn(15))
-	}
-	return r
-}
-
-// likely tells what fits to what is asked, for the most part.
-func likely(chance *rand.Rand, o kv.Op) kv.Result {
-	switch {
-	case chance.Intn(12) == 0:
-		return anyTold(chance)
-	case o.Kind == kv.Get && o.Key == affKey:
-		return found([]string{pending, confirmed, leaving}[chance.Intn(3)], markedRev)
-	case o.Kind == kv.Get:
-		return found(blockOf("n1", chance.Intn(3)), blockRev)
-	case o.Key == blkKey:
-		return []kv.Result{written(11), refused(api.ErrStale), refused(api.ErrStale)}[chance.Intn(3)]
-	}
-	return written(markedRev)
-}
-
-// Whatever is told: it asks what one asks that is written by the words alone, never more often than Bound, and ends once, like that one.
-func TestWhateverIsTold(t *testing.T) {
-	chance, most := rand.New(rand.NewSource(20)), 0
-	for k := range 6000 {
-		got, want := api.Errno(-1), api.Errno(-1)
-		ended := 0
-		p := mach.New()
-		leave.Go(p, "n1", base, func(e api.Errno) { got, ended = e, ended+1 })
-		q, stop := stepwise(func(ask asker) { want = leaveByWords(ask, "n1", base) })
-		tell := func(o kv.Op) kv.Result { return likely(chance, o) }
-		if k%3 == 0 {
-			tell = func(kv.Op) kv.Result { return anyTold(chance) }
-		}
-		for {
-			a, asks := p.Op()
-			b, asksToo := q.Op()
-			if a != b || asks != asksToo {
-				t.Fatalf("asked %#v, %v at the step %d; want %#v, %v", a, asks, p.Steps(), b, asksToo)
-			}
-			if !asks {
-				break
-			}
-			r := tell(a)
-			p.Feed(r)
-			q.Feed(r)
-		}
-		stop()
-		if ended != 1 || got != want || p.Steps() > leave.Bound() {
-			t.Fatalf("ended %d times, with %d, behind %d steps; want %d", ended, got, p.Steps(), want)
-		}
-		most = max(most, p.Steps())
-	}
-	if most < 25 {
-		t.Errorf("never more than %d steps: too few were tried", most)
 	}
 }

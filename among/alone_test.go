@@ -1,0 +1,238 @@
+package among
+
+import (
+	"maps"
+	"slices"
+	"testing"
+
+	"virgate/api"
+	"virgate/block"
+	"virgate/claim"
+	"virgate/grab"
+	"virgate/handle"
+	"virgate/image"
+	"virgate/kv"
+	"virgate/leave"
+	"virgate/mach"
+	"virgate/view"
+)
+
+// items is what a state has, by the keys; of what may be written anew the revision is 0.
+type items map[string]kv.Item
+
+func itemsOf(s *kv.State) items {
+	m := items{}
+	for _, it := range s.All() {
+		m[it.Key] = it
+	}
+	return m
+}
+
+// write lets key have val, at whatever revision, if it does not have that already.
+func (m items) write(key, val string) {
+	if it, has := m[key]; !has || it.Val != val {
+		m[key] = kv.Item{Key: key, Val: val}
+	}
+}
+
+// touch lets key have what it has, if it has that, at whatever revision.
+func (m items) touch(key string) {
+	if it, has := m[key]; has {
+		it.Rev = 0
+		m[key] = it
+	}
+}
+
+// is tells whether s has just these.
+func (m items) is(s *kv.State) bool {
+	return maps.EqualFunc(m, itemsOf(s), func(a, b kv.Item) bool {
+		if a.Rev == 0 {
+			b.Rev = 0
+		}
+		return a == b
+	})
+}
+
+// wantLeft holds what node does to s that leaves alone.
+func wantLeft(t *testing.T, s *kv.State, node, story string) {
+	t.Helper()
+	aff := "aff/" + node + "/10.0.0.0-26"
+	want := itemsOf(s)
+	if _, has := want[aff]; has {
+		delete(want, aff)
+		want.letGo(node)
+	}
+	var ends []api.Errno
+	p := mach.New()
+	leave.Go(p, node, base+17, func(e api.Errno) { ends = append(ends, e) })
+	if done := mach.Run(p, s.Do, 6); !done || !slices.Equal(ends, []api.Errno{api.OK}) || !want.is(s) {
+		t.Fatalf("%s leaves alone behind %q: ended %v, %v; left %#v; want %#v", node, story, done, ends, s.All(), want)
+	}
+}
+
+// letGo lets the block be nobody's, if it is node's, or not be there, if nothing of it is given.
+func (m items) letGo(node string) {
+	b, e := image.Read(m[blkKey].Val)
+	if e != api.OK || b.Aff != node {
+		return
+	}
+	if len(b.Given()) == 0 {
+		delete(m, blkKey)
+		return
+	}
+	b.Aff = ""
+	m.write(blkKey, put(b))
+}
+
+// wantClaimed holds what node does to s that claims alone.
+func wantClaimed(t *testing.T, s *kv.State, node, story string) {
+	t.Helper()
+	aff := "aff/" + node + "/10.0.0.0-26"
+	v, _ := view.Of(s.All())
+	b, there := v.Block(base)
+	isGone, known := v.Nodes[node]
+	pool, lies := v.PoolOf(base)
+	want, e := itemsOf(s), api.OK
+	switch {
+	case !lies || !pool.Open:
+		e = api.ErrNone
+	case !known || isGone:
+		e = api.ErrState
+	case there && b.Aff != "" && b.Aff != node:
+		e = api.ErrTaken
+		delete(want, aff)
+	case want[aff].Val != confirmed:
+		if !there {
+			b, _ = block.New(base, node)
+		}
+		b.Aff = node
+		want.write(blkKey, put(b))
+		want.touch(blkKey)
+		want.write(aff, confirmed)
+	}
+	var ends []api.Errno
+	p := mach.New()
+	claim.Go(p, node, base+17, func(e api.Errno) { ends = append(ends, e) })
+	if done := mach.Run(p, s.Do, 5+6); !done || !slices.Equal(ends, []api.Errno{e}) || !want.is(s) {
+		t.Fatalf("%s claims alone behind %q: ended %v, %v; left %#v; want %#v", node, story, done, ends, s.All(), want)
+	}
+}
+
+// wantGrabbed holds what a want does to s alone.
+func wantGrabbed(t *testing.T, s *kv.State, w want, story string) {
+	t.Helper()
+	v, _ := view.Of(s.All())
+	b, there := v.Block(base)
+	want, given := itemsOf(s), v.Given()
+	free, e := mayGrab(b, there, w)
+	key := "handle/" + w.Attr.Handle
+	want.touch(key)
+	if e == api.OK {
+		h, _ := handle.Add(v.Handles[w.Attr.Handle], base, len(free))
+		val, _ := handle.Put(h)
+		want.write(key, val)
+		for _, addr := range free {
+			given[addr] = w.Attr
+		}
+	}
+	var told []uint32
+	var ends []api.Errno
+	p := mach.New()
+	grab.Go(p, base+9, w, func(l []uint32, e api.Errno) { told, ends = l, append(ends, e) })
+	done := mach.Run(p, s.Do, 4+2)
+	after, _ := view.Of(s.All())
+	if now, _ := after.Block(base); e == api.OK && now.Aff == b.Aff {
+		// What else the block has then is held by what is given.
+		want.write(blkKey, put(now))
+	}
+	if !done || !slices.Equal(ends, []api.Errno{e}) || !slices.Equal(told, free) || !maps.Equal(after.Given(), given) || !want.is(s) {
+		t.Fatalf("%+v alone behind %q: ended %v, %v with %v; left %#v; want %d, %v, %#v", w, story, done, ends, told, s.All(), e, free, want)
+	}
+}
+
+// mayGrab tells what of b a want is given alone, or why nothing is.
+func mayGrab(b block.Block, there bool, w want) ([]uint32, api.Errno) {
+	if !there {
+		return nil, api.ErrNone
+	}
+	if w.Own != "" && b.Aff != w.Own {
+		return nil, api.ErrTaken
+	}
+	l := freeOf(b, w)
+	if len(l) > 0 {
+		return l, api.OK
+	}
+	if w.One {
+		return nil, api.ErrTaken
+	}
+	return nil, api.ErrFull
+}
+
+// freeOf tells what of b is wanted, and free.
+func freeOf(b block.Block, w want) []uint32 {
+	var l []uint32
+	for _, i := range b.Free {
+		addr := b.Addr + uint32(i)
+		if w.One && addr == w.At || !w.One && len(l) < w.N {
+			l = append(l, addr)
+		}
+	}
+	return l
+}
+
+// others tells items of other things, which have nothing to do with the block.
+func others() map[string]string {
+	b, _ := block.New(base+64, "n1")
+	b, _, _ = block.Assign(b, 3, attr("h1", "n1"))
+	return map[string]string{
+		"aff/n1/10.0.0.64-26":     confirmed,
+		"aff/n1/9.255.255.192-26": pending,
+		"block/10.0.0.64-26":      put(b),
+		"handle/h":                "H\x00\x00",
+		"handle/h11":              "H\x00\x01\x0a\x00\x00\x00\x00\x02",
+		"lock":                    "L",
+		"node/n":                  gone,
+		"node/n11":                present,
+		"pool/10.0.1.0-24":        "P\x0a\x00\x01\x00\x18\x01",
+		"pool/9.255.0.0-16":       "P\x09\xff\x00\x00\x10\x00",
+	}
+}
+
+// Alone it leaves, claims, grabs, however the affinity stands, and whatever the block is; all else stays as it is.
+func TestAlone(t *testing.T) {
+	for _, val := range []string{"", pending, confirmed, leaving} {
+		for _, aff := range []string{"", "n1", "n2", "n11"} {
+			for _, n := range []int{-1, 0, 1, 2, 3, 62, 63, 64} {
+				affs := map[string]string{"n2": pending, "n11": leaving}
+				if val != "" {
+					affs["n1"] = val
+				}
+				blk := ""
+				if n >= 0 {
+					blk = blockOf(aff, n)
+				}
+				aloneIn(t, world(affs, blk))
+			}
+		}
+	}
+}
+
+func aloneIn(t *testing.T, s *kv.State) {
+	t.Helper()
+	for _, key := range slices.Sorted(maps.Keys(others())) {
+		s.Do(kv.Op{Kind: kv.Create, Key: key, Val: others()[key]})
+	}
+	if v, e := view.Of(s.All()); e != api.OK {
+		t.Fatalf("there is what is no record: %#v", s.All())
+	} else if wrong(v) == "" {
+		for _, node := range []string{"n1", "n2", "n3", "n4", "n11"} {
+			wantClaimed(t, copied(s), node, "nothing")
+		}
+	}
+	for _, w := range []want{two, one, own, more} {
+		wantGrabbed(t, copied(s), w, "nothing")
+	}
+	for _, node := range []string{"n1", "n1", "n11", "n2", "n3"} {
+		wantLeft(t, s, node, "nothing")
+	}
+}

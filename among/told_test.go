@@ -1,0 +1,173 @@
+package among
+
+import (
+	"math/rand"
+	"slices"
+	"testing"
+
+	"virgate/api"
+	"virgate/claim"
+	"virgate/grab"
+	"virgate/kv"
+	"virgate/leave"
+	"virgate/mach"
+)
+
+// ending is what somebody ended with.
+type ending struct {
+	l []uint32
+	e api.Errno
+}
+
+func (x ending) is(y ending) bool { return x.e == y.e && slices.Equal(x.l, y.l) }
+
+// pair is something that is done by a procedure of the project's own, and the same by the words alone.
+type pair struct {
+	what  string
+	bound int
+	reach int // how many steps some tell it to take at the least
+	own   func(p *mach.Proc, end func(l []uint32, e api.Errno))
+	words func(ask asker) ([]uint32, api.Errno)
+}
+
+func pairs() []pair {
+	l := []pair{
+		{"leave", leave.Bound(), 28,
+			func(p *mach.Proc, end func(l []uint32, e api.Errno)) {
+				leave.Go(p, "n1", base+3, func(e api.Errno) { end(nil, e) })
+			},
+			func(ask asker) ([]uint32, api.Errno) { return nil, leaveByWords(ask, "n1", base+3) }},
+		{"claim", claim.Bound(), 60,
+			func(p *mach.Proc, end func(l []uint32, e api.Errno)) {
+				claim.Go(p, "n1", base+3, func(e api.Errno) { end(nil, e) })
+			},
+			func(ask asker) ([]uint32, api.Errno) { return nil, claimByWords(ask, "n1", base+3) }},
+		{"back", grab.BackBound(), 12,
+			func(p *mach.Proc, end func(l []uint32, e api.Errno)) {
+				grab.Back(p, "h1", base+3, 3, func(e api.Errno) { end(nil, e) })
+			},
+			func(ask asker) ([]uint32, api.Errno) { return nil, backByWords(ask, "h1", base+3, 3) }},
+	}
+	for _, w := range []want{two, own, more, one, {One: true, At: base + 64, Attr: two.Attr}, {One: true, At: base + 33, N: 7, Attr: two.Attr, Own: "n2"}} {
+		l = append(l, pair{"grab", grab.Bound(), 25,
+			func(p *mach.Proc, end func(l []uint32, e api.Errno)) { grab.Go(p, base+3, w, end) },
+			func(ask asker) ([]uint32, api.Errno) { return grabByWords(ask, base+3, w) }})
+	}
+	return l
+}
+
+// anyOf tells one of them, each as likely as the others.
+func anyOf[T any](chance *rand.Rand, l ...T) T { return l[chance.Intn(len(l))] }
+
+func anyVal(chance *rand.Rand) string {
+	return anyOf(chance, pending, confirmed, leaving, present, gone, blockOf("n1", 0), blockOf("n2", 3), blockOf("", 64), handleOf(base, 3), handleOf(base, 65535), handleOf(base+64, 1), "H\x00\x00", "", "A\x09")
+}
+
+// anyPools tells what may be listed as pools: some are right, open, have the address, or not.
+func anyPools(chance *rand.Rand) []kv.Item {
+	var l []kv.Item
+	for range chance.Intn(4) {
+		val := anyOf(chance, openPool, openPool, closedPool, "P\x0a\x00\x01\x00\x18\x01", "P\x0a\x00\x00\x00\x10\x01", "P\x0a\x00\x00\x00\x1a\x01", "P\x0a\x00\x00\x40\x1a\x01", "")
+		l = append(l, kv.Item{Key: anyOf(chance, poolKey, "pool/10.0.0.0-16"), Val: val, Rev: int64(chance.Intn(3))})
+	}
+	return l
+}
+
+// anyTold tells what may be told, right or not.
+func anyTold(chance *rand.Rand) kv.Result {
+	r := kv.Result{Rev: int64(chance.Intn(3)) - 1, Val: anyVal(chance), Items: anyPools(chance)}
+	if chance.Intn(5) == 0 {
+		r.Code = api.Errno(chance.Intn(15))
+	}
+	return r
+}
+
+// likely tells what fits to what is asked, for the most part, so that one goes on for long.
+func likely(chance *rand.Rand, o kv.Op) kv.Result {
+	rev := 5 + int64(chance.Intn(2))
+	switch {
+	case chance.Intn(25) == 0:
+		return anyTold(chance)
+	case o.Kind == kv.List:
+		return kv.Result{Rev: rev, Items: []kv.Item{{Key: "pool/10.0.0.0-16", Val: closedPool, Rev: 2}, {Key: poolKey, Val: openPool, Rev: rev}}}
+	case o.Kind != kv.Get && (o.Key == blkKey && chance.Intn(6) > 0 || o.Key != blkKey && o.Key != affKey && chance.Intn(2) > 0):
+		return refused(anyOf(chance, api.ErrStale, api.ErrThere, api.ErrNone, api.ErrArg))
+	case o.Kind != kv.Get && o.Key == affKey:
+		// A revision that stays lets those go on who look whether it does.
+		return kv.Result{Rev: 5}
+	case o.Kind != kv.Get:
+		return kv.Result{Rev: rev}
+	case o.Key == nodeKey:
+		return kv.Result{Rev: rev, Val: present}
+	case o.Key == affKey:
+		return anyOf(chance, refused(api.ErrNone), kv.Result{Rev: 5, Val: pending}, kv.Result{Rev: 5, Val: leaving}, kv.Result{Rev: 5, Val: leaving}, kv.Result{Rev: 5, Val: confirmed})
+	case o.Key == blkKey:
+		return anyOf(chance, refused(api.ErrNone), kv.Result{Rev: rev, Val: blockOf("", 3)}, kv.Result{Rev: rev, Val: blockOf("n1", 63)}, kv.Result{Rev: rev, Val: blockOf("n1", 0)}, kv.Result{Rev: rev, Val: blockOf("n2", chance.Intn(65))})
+	}
+	return anyOf(chance, refused(api.ErrNone), kv.Result{Rev: rev, Val: handleOf(base, 1)}, kv.Result{Rev: rev, Val: handleOf(base, 64)}, kv.Result{Rev: rev, Val: handleOf(base+64, 3)})
+}
+
+// oftenAsAhead tells what tell does, but for the most part what was told of the like ahead: that leads to the last try.
+func oftenAsAhead(chance *rand.Rand, tell func(o kv.Op) kv.Result) func(o kv.Op) kv.Result {
+	type like struct {
+		kind int
+		key  string
+	}
+	ahead := map[like]kv.Result{}
+	return func(o kv.Op) kv.Result {
+		x := like{o.Kind, o.Key}
+		r, was := ahead[x]
+		if !was || chance.Intn(9) == 0 {
+			r = tell(o)
+		}
+		ahead[x] = r
+		return r
+	}
+}
+
+// Whatever is told: each asks what one asks that goes by the words alone, never more often than its bound, and ends once, like that one.
+func TestWhateverIsTold(t *testing.T) {
+	for _, x := range pairs() {
+		chance, most := rand.New(rand.NewSource(21)), 0
+		for k := range 3000 {
+			tell := func(o kv.Op) kv.Result { return likely(chance, o) }
+			if k%4 == 0 {
+				tell = func(kv.Op) kv.Result { return anyTold(chance) }
+			}
+			if k%2 == 0 {
+				tell = oftenAsAhead(chance, tell)
+			}
+			most = max(most, x.goOn(t, tell))
+		}
+		if most < x.reach {
+			t.Errorf("%s: never more than %d steps: too few were tried", x.what, most)
+		}
+	}
+}
+
+// goOn lets both go on by what is told, and tells how many steps they took.
+func (x pair) goOn(t *testing.T, tell func(o kv.Op) kv.Result) int {
+	t.Helper()
+	var got, want []ending
+	p := mach.New()
+	x.own(p, func(l []uint32, e api.Errno) { got = append(got, ending{l, e}) })
+	q, stop := stepwise(x.words, func(l []uint32, e api.Errno) { want = append(want, ending{l, e}) })
+	defer stop()
+	for {
+		a, asks := p.Op()
+		b, asksToo := q.Op()
+		if a != b || asks != asksToo {
+			t.Fatalf("%s: asked %#v, %v at the step %d; want %#v, %v", x.what, a, asks, p.Steps(), b, asksToo)
+		}
+		if !asks {
+			break
+		}
+		r := tell(a)
+		p.Feed(r)
+		q.Feed(r)
+	}
+	if !slices.EqualFunc(got, want, ending.is) || len(got) != 1 || p.Steps() > x.bound {
+		t.Fatalf("%s: ended with %v, behind %d steps; want %v", x.what, got, p.Steps(), want)
+	}
+	return p.Steps()
+}

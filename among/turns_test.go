@@ -1,0 +1,419 @@
+package among
+
+import (
+	"fmt"
+	"maps"
+	"math/rand"
+	"slices"
+	"strings"
+	"testing"
+
+	"virgate/api"
+	"virgate/block"
+	"virgate/claim"
+	"virgate/grab"
+	"virgate/kv"
+	"virgate/leave"
+	"virgate/mach"
+	"virgate/recs"
+	"virgate/view"
+)
+
+// want is what is wanted of a block.
+type want = grab.Want
+
+// actor is one of several that take turns; it is told at its end what it gave, or freed.
+type actor struct {
+	name  string
+	gives block.Attr // under which it gives; the zero one, if it gives nothing
+	frees string     // the handle of which it frees
+	start func(end func(l []uint32, e api.Errno)) (*mach.Proc, func())
+}
+
+// onward tells what starts somebody who goes on by a procedure of the project's own.
+func onward(f func(p *mach.Proc, end func(l []uint32, e api.Errno))) func(end func(l []uint32, e api.Errno)) (*mach.Proc, func()) {
+	return func(end func(l []uint32, e api.Errno)) (*mach.Proc, func()) {
+		p := mach.New()
+		f(p, end)
+		return p, func() {}
+	}
+}
+
+// byWords tells what starts somebody who does what f does.
+func byWords(f func(ask asker) ([]uint32, api.Errno)) func(end func(l []uint32, e api.Errno)) (*mach.Proc, func()) {
+	return func(end func(l []uint32, e api.Errno)) (*mach.Proc, func()) { return stepwise(f, end) }
+}
+
+func leaves(node string) actor {
+	return actor{name: "leave " + node, start: onward(func(p *mach.Proc, end func(l []uint32, e api.Errno)) {
+		leave.Go(p, node, base, func(e api.Errno) { end(nil, e) })
+	})}
+}
+
+func claims(node string) actor {
+	return actor{name: "claim " + node, start: onward(func(p *mach.Proc, end func(l []uint32, e api.Errno)) {
+		claim.Go(p, node, base+17, func(e api.Errno) { end(nil, e) })
+	})}
+}
+
+func grabs(w want) actor {
+	return actor{name: fmt.Sprintf("grab %+v", w), gives: w.Attr, start: onward(func(p *mach.Proc, end func(l []uint32, e api.Errno)) {
+		grab.Go(p, base+5, w, end)
+	})}
+}
+
+func drops(id string) actor {
+	return actor{name: "drop " + id, frees: id, start: byWords(func(ask asker) ([]uint32, api.Errno) { return dropByWords(ask, base, id) })}
+}
+
+func tidies() actor {
+	return actor{name: "tidy", start: byWords(func(ask asker) ([]uint32, api.Errno) {
+		tidyByWords(ask, base)
+		return nil, api.OK
+	})}
+}
+
+func dropsPool() actor {
+	return actor{name: "close and drop the pool", start: byWords(func(ask asker) ([]uint32, api.Errno) {
+		setPoolByWords(ask, poolKey, closedPool)
+		return nil, dropPoolByWords(ask, poolKey)
+	})}
+}
+
+func opensPool() actor {
+	return actor{name: "open the pool", start: byWords(func(ask asker) ([]uint32, api.Errno) {
+		return nil, setPoolByWords(ask, poolKey, openPool)
+	})}
+}
+
+func dropsNode(name string) actor {
+	return actor{name: "drop " + name, start: byWords(func(ask asker) ([]uint32, api.Errno) { return nil, dropNodeByWords(ask, name) })}
+}
+
+// world tells a state of a pool, three nodes of which one is gone, affinities by their nodes, and the block, if it is not empty, with the handles that it has.
+func world(affs map[string]string, blk string) *kv.State {
+	s := kv.New()
+	items := map[string]string{poolKey: openPool, "node/n1": present, "node/n2": present, "node/n3": gone}
+	for node, val := range affs {
+		items["aff/"+node+"/10.0.0.0-26"] = val
+	}
+	if blk != "" {
+		items[blkKey] = blk
+		maps.Copy(items, handlesOf(blk))
+	}
+	for _, key := range slices.Sorted(maps.Keys(items)) {
+		s.Do(kv.Op{Kind: kv.Create, Key: key, Val: items[key]})
+	}
+	return s
+}
+
+// worlds tells states in which all that must hold holds.
+func worlds() []*kv.State {
+	var l []*kv.State
+	for _, n := range []int{0, 3} {
+		for _, val := range []string{pending, confirmed, leaving} {
+			l = append(l, world(map[string]string{"n1": val}, blockOf("n1", n)))
+			l = append(l, world(map[string]string{"n1": val, "n2": pending}, blockOf("n1", n)))
+		}
+		for _, val := range []string{pending, leaving} {
+			l = append(l, world(map[string]string{"n1": val}, ""))
+			l = append(l, world(map[string]string{"n1": val}, blockOf("", n)))
+			l = append(l, world(map[string]string{"n1": val, "n2": confirmed}, blockOf("n2", n)))
+		}
+	}
+	return append(l, world(nil, ""), world(nil, blockOf("", 3)), world(map[string]string{"n1": confirmed}, blockOf("n1", 63)))
+}
+
+// copied tells a state that is the same, and goes its own way.
+func copied(s *kv.State) *kv.State {
+	c, _ := kv.Of(s.Rev(), s.All())
+	return c
+}
+
+// wrong tells what does not hold in s.
+func wrong(v view.View) string {
+	owners := map[uint32]int{}
+	for a, state := range v.Affs {
+		b, there := v.Block(a.Block)
+		if state == recs.Confirmed && (!there || b.Aff != a.Node) {
+			return a.Node + " is Confirmed, but the block is not its own"
+		}
+		if state == recs.Confirmed {
+			owners[a.Block]++
+		}
+		if _, lies := v.PoolOf(a.Block); !lies || owners[a.Block] > 1 {
+			return "an affinity lies in no pool, or two are Confirmed"
+		}
+	}
+	for _, b := range v.Blocks {
+		if _, there := v.Affs[view.Aff{Node: b.Aff, Block: b.Addr}]; b.Aff != "" && !there {
+			return "the block is of " + b.Aff + ", which has no affinity"
+		}
+		if _, lies := v.PoolOf(b.Addr); !lies {
+			return "a block lies in no pool"
+		}
+		for a, n := range perHandle(b) {
+			if h := v.Handles[a]; h.Of(b.Addr) < n {
+				return "more is given than counted under " + a
+			}
+		}
+	}
+	return ""
+}
+
+// perHandle tells how many addresses of b are given under each handle.
+func perHandle(b block.Block) map[string]int {
+	n := map[string]int{}
+	for a, k := range b.Count() {
+		n[a.Handle] += k
+	}
+	return n
+}
+
+// exact tells whether the handles of v have just what is given, once it is known that none has less.
+func exact(v view.View) bool {
+	total := 0
+	for _, h := range v.Handles {
+		total += h.Total()
+	}
+	return total == len(v.Given())
+}
+
+// part is one of a troupe, and what it has done by now.
+type part struct {
+	actor
+	proc  *mach.Proc
+	stop  func()
+	gave  []uint32
+	freed []uint32
+	ended bool
+	told  []uint32
+	e     api.Errno
+}
+
+// troupe is several that take turns at one state.
+type troupe struct {
+	state *kv.State
+	given map[uint32]block.Attr
+	parts []*part
+	turns []int // who took them
+}
+
+func gather(s *kv.State, l []actor) *troupe {
+	v, _ := view.Of(s.All())
+	x := &troupe{state: copied(s), given: v.Given()}
+	for _, a := range l {
+		p := &part{actor: a}
+		p.proc, p.stop = a.start(func(l []uint32, e api.Errno) { p.told, p.e, p.ended = l, e, true })
+		x.parts = append(x.parts, p)
+	}
+	return x
+}
+
+func (x *troupe) dismiss() {
+	for _, p := range x.parts {
+		p.stop()
+	}
+}
+
+// asking tells which of them ask something.
+func (x *troupe) asking() []int {
+	var l []int
+	for k, p := range x.parts {
+		if _, asks := p.proc.Op(); asks {
+			l = append(l, k)
+		}
+	}
+	return l
+}
+
+// last tells who took the last turn, or -1.
+func (x *troupe) last() int {
+	if len(x.turns) == 0 {
+		return -1
+	}
+	return x.turns[len(x.turns)-1]
+}
+
+func (x *troupe) story() string {
+	var l []string
+	for _, k := range x.turns {
+		l = append(l, x.parts[k].name)
+	}
+	return strings.Join(l, ", ")
+}
+
+// step lets the k-th one do a step, and holds that nothing is wrong behind it.
+func (x *troupe) step(t *testing.T, k int) {
+	t.Helper()
+	x.turns = append(x.turns, k)
+	p, rev := x.parts[k], x.state.Rev()
+	mach.Run(p.proc, x.state.Do, 1)
+	if x.state.Rev() != rev {
+		x.look(t, p)
+	}
+	if p.ended && !p.toldWhatItDid() {
+		t.Fatalf("%s ended with %v, %d; gave %v, freed %v behind the turns %s", p.name, p.told, p.e, p.gave, p.freed, x.story())
+	}
+}
+
+// look holds what is there behind a write of p, and notes what that gave and freed.
+func (x *troupe) look(t *testing.T, p *part) {
+	t.Helper()
+	v, e := view.Of(x.state.All())
+	if w := wrong(v); e != api.OK || w != "" {
+		t.Fatalf("%d, %s behind the turns %s: %#v", e, w, x.story(), x.state.All())
+	}
+	ahead := x.given
+	x.given = v.Given()
+	for addr, a := range x.given {
+		if was, had := ahead[addr]; had && was != a || !had && a != p.gives {
+			t.Fatalf("%d was given under %v, is given under %v behind the turns %s", addr, was, a, x.story())
+		} else if !had {
+			p.gave = append(p.gave, addr)
+		}
+	}
+	for addr, a := range ahead {
+		if _, has := x.given[addr]; !has {
+			p.freed = append(p.freed, addr)
+			if a.Handle != p.frees {
+				t.Fatalf("%d was given under %v, is free behind the turns %s", addr, a, x.story())
+			}
+		}
+	}
+}
+
+// toldWhatItDid holds what p was told at its end against what its steps did.
+func (p *part) toldWhatItDid() bool {
+	did := slices.Sorted(slices.Values(slices.Concat(p.gave, p.freed)))
+	return slices.Equal(did, slices.Sorted(slices.Values(p.told))) && (p.e == api.OK || len(p.told) == 0)
+}
+
+// play lets them take turns as path says, and behind that go on each to its end; it tells of each turn who asked.
+func (x *troupe) play(t *testing.T, path []int) [][]int {
+	t.Helper()
+	defer x.dismiss()
+	var asked [][]int
+	for l := x.asking(); len(l) > 0; l = x.asking() {
+		k := l[0]
+		if n := len(asked); n < len(path) {
+			k = path[n]
+		} else if slices.Contains(l, x.last()) {
+			k = x.last()
+		}
+		asked = append(asked, l)
+		x.step(t, k)
+	}
+	// So few turns tire nobody out, so that all that was counted too much was taken back.
+	if v, _ := view.Of(x.state.All()); !exact(v) {
+		t.Fatalf("counted is not what is given behind the turns %s: %#v", x.story(), x.state.All())
+	}
+	return asked
+}
+
+// branch is how turns begin, and how often one was broken off in them.
+type branch struct {
+	path   []int
+	breaks int
+}
+
+// everyTurn goes through all turns in which no more than so many times one is broken off ahead of its end.
+func everyTurn(t *testing.T, s *kv.State, breaks int, l ...actor) {
+	t.Helper()
+	for work := []branch{{}}; len(work) > 0; {
+		b := work[len(work)-1]
+		work = work[:len(work)-1]
+		x := gather(s, l)
+		asked := x.play(t, b.path)
+		for n := len(b.path); n < len(asked); n++ {
+			more := b.breaks
+			if n > 0 && slices.Contains(asked[n], x.turns[n-1]) {
+				more++
+			}
+			for _, k := range asked[n] {
+				if k != x.turns[n] && more <= breaks {
+					work = append(work, branch{append(slices.Clone(x.turns[:n]), k), more})
+				}
+			}
+		}
+	}
+}
+
+// some of h1, and just one of h2, of whosever block it is; some of n1's own.
+var (
+	two  = want{N: 2, Attr: attr("h1", "n1")}
+	one  = want{One: true, At: base + 4, Attr: attr("h2", "n2")}
+	own  = want{N: 3, Attr: attr("h1", "n1"), Own: "n1"}
+	more = want{N: 64, Attr: attr("h3", "n2")}
+)
+
+// Two in all their turns that break one off at most twice, three in those that do so once: what holds stays so, and each is told at its end just what its steps did.
+func TestEveryTurn(t *testing.T) {
+	for _, s := range worlds() {
+		for _, l := range [][]actor{
+			{leaves("n1"), leaves("n1")},
+			{leaves("n1"), claims("n1")},
+			{leaves("n1"), claims("n2")},
+			{leaves("n1"), grabs(two)},
+			{leaves("n1"), grabs(own)},
+			{leaves("n1"), drops("h1")},
+			{claims("n1"), claims("n1")},
+			{claims("n1"), claims("n2")},
+			{claims("n1"), tidies()},
+			{claims("n1"), dropsPool()},
+			{claims("n1"), dropsNode("n1")},
+			{claims("n1"), grabs(two)},
+			{claims("n1"), drops("h1")},
+			{grabs(two), grabs(one)},
+			{grabs(one), grabs(one)},
+			{grabs(own), grabs(more)},
+			{grabs(two), drops("h1")},
+			{grabs(more), drops("h2")},
+			{leaves("n1"), leaves("n1"), claims("n1")},
+			{leaves("n1"), claims("n1"), grabs(own)},
+			{leaves("n1"), leaves("n2"), tidies()},
+			{leaves("n1"), drops("h1"), grabs(two)},
+			{claims("n1"), claims("n2"), leaves("n1")},
+			{claims("n1"), leaves("n1"), dropsPool()},
+			{claims("n1"), drops("h2"), tidies()},
+			{grabs(two), grabs(one), drops("h1")},
+		} {
+			breaks := 2
+			if len(l) > 2 {
+				breaks = 1
+			}
+			everyTurn(t, s, breaks, l...)
+		}
+	}
+}
+
+// Many in any turns, each of which may stop for ever: what holds stays so, and whoever goes on alone behind that does what he does alone.
+func TestAnyTurn(t *testing.T) {
+	chance := rand.New(rand.NewSource(2140))
+	kinds := []actor{
+		leaves("n1"), leaves("n1"), leaves("n2"), leaves("n3"), claims("n1"), claims("n1"), claims("n2"), claims("n3"), claims("n4"),
+		grabs(two), grabs(two), grabs(one), grabs(own), grabs(more), drops("h1"), drops("h1"), drops("h2"), drops("h3"),
+		tidies(), dropsPool(), opensPool(), dropsNode("n1"),
+	}
+	l := worlds()
+	for range 4000 {
+		var some []actor
+		for range 3 + chance.Intn(6) {
+			some = append(some, kinds[chance.Intn(len(kinds))])
+		}
+		x := gather(l[chance.Intn(len(l))], some)
+		for asking := x.asking(); len(asking) > 0 && chance.Intn(60) > 0; asking = x.asking() {
+			x.step(t, asking[chance.Intn(len(asking))])
+		}
+		x.dismiss()
+		for _, node := range []string{"n1", "n2", "n3", "n4"} {
+			s := copied(x.state)
+			wantClaimed(t, s, node, x.story())
+			wantLeft(t, s, node, x.story())
+			wantClaimed(t, s, node, x.story())
+		}
+		for _, w := range []want{two, one, own, more, two} {
+			wantGrabbed(t, x.state, w, x.story())
+		}
+	}
+}
