@@ -3,11 +3,14 @@ package among
 import (
 	"maps"
 	"slices"
+	"strings"
 	"testing"
 
 	"virgate/api"
+	"virgate/auto"
 	"virgate/block"
 	"virgate/claim"
+	"virgate/drop"
 	"virgate/grab"
 	"virgate/handle"
 	"virgate/image"
@@ -180,6 +183,120 @@ func freeOf(b block.Block, w want) []uint32 {
 	return l
 }
 
+// wantDropped holds what dropping w alone does to s.
+func wantDropped(t *testing.T, s *kv.State, w drop.What, story string) {
+	t.Helper()
+	v, _ := view.Of(s.All())
+	b, _ := v.Block(base)
+	want, l := itemsOf(s), meantByWords(b, w)
+	if len(l) > 0 {
+		want.free(v, b, l)
+	}
+	var told []uint32
+	var ends []api.Errno
+	p := mach.New()
+	drop.Go(p, base+9, w, func(l []uint32, e api.Errno) { told, ends = l, append(ends, e) })
+	done := mach.Run(p, s.Do, 3+2*len(v.Handles))
+	if !done || !slices.Equal(ends, []api.Errno{api.OK}) || !slices.Equal(told, l) || !want.is(s) {
+		t.Fatalf("%+v is dropped alone behind %q: ended %v, %v with %v; left %#v; want %v, %#v", w, story, done, ends, told, s.All(), l, want)
+	}
+}
+
+// free lets l, all of which are given in b, not be given any more, nor counted.
+func (m items) free(v view.View, b block.Block, l []uint32) {
+	had := perHandle(b)
+	b, _, _ = block.Release(b, l)
+	m.write(blkKey, put(b))
+	if len(b.Free) == 64 && b.Aff == "" {
+		delete(m, blkKey)
+	}
+	has := perHandle(b)
+	for id, h := range v.Handles {
+		if had[id] == has[id] {
+			continue
+		}
+		key := "handle/" + id
+		h, _ = handle.Set(h, base, h.Of(base)-had[id]+has[id])
+		val, _ := handle.Put(h)
+		m.write(key, val)
+		m.touch(key)
+		if h.Total() == 0 {
+			delete(m, key)
+		}
+	}
+}
+
+// wantGiven holds what giving w alone does to s.
+func wantGiven(t *testing.T, s *kv.State, w auto.Want, story string) {
+	t.Helper()
+	v, _ := view.Of(s.All())
+	n, e := mayGive(v, w)
+	given, counted := v.Given(), v.Handles[w.Attr.Handle]
+	was := itemsOf(s)
+	var told []uint32
+	var ends []api.Errno
+	p := mach.New()
+	auto.Go(p, w, func(l []uint32, e api.Errno) { told, ends = l, append(ends, e) })
+	done := mach.Run(p, s.Do, 9999)
+	after, _ := view.Of(s.All())
+	for _, addr := range told {
+		given[addr] = w.Attr
+		counted, _ = handle.Add(counted, addr, 1)
+	}
+	if !done || !slices.Equal(ends, []api.Errno{e}) || len(told) != n || !maps.Equal(after.Given(), given) || len(given) != len(v.Given())+n {
+		t.Fatalf("%+v is given alone behind %q: ended %v, %v with %v; left %#v; want %d, %d", w, story, done, ends, told, s.All(), n, e)
+	}
+	is := itemsOf(s)
+	was.given(is, w.Attr, counted)
+	if x := wrong(after); !was.is(s) || wrong(v) == "" && x != "" {
+		t.Fatalf("%+v is given alone behind %q: %s; left %#v; want %#v", w, story, x, s.All(), was)
+	}
+}
+
+// given lets there be what is, of blocks and of affinities to these of the node that is Confirmed; the handle has what is counted.
+func (m items) given(is items, a block.Attr, counted handle.Handle) {
+	for key, it := range is {
+		if strings.HasPrefix(key, "block/") || strings.HasPrefix(key, "aff/"+a.Node+"/") && it.Val == confirmed {
+			m[key] = it
+		}
+	}
+	key := "handle/" + a.Handle
+	m.touch(key)
+	if counted.Total() > 0 {
+		val, _ := handle.Put(counted)
+		m.write(key, val)
+	}
+}
+
+// mayGive tells how many addresses are given alone, or why none are.
+func mayGive(v view.View, w auto.Want) (int, api.Errno) {
+	if isGone, known := v.Nodes[w.Attr.Node]; isGone || !known {
+		return 0, api.ErrState
+	}
+	free, open := 0, false
+	for _, p := range v.Pools {
+		if !p.Open {
+			continue
+		}
+		open = true
+		for _, addr := range inTurn(p, w.Attr.Node) {
+			b, there := v.Block(addr)
+			if !there {
+				free += 64
+			} else if w.Borrow || b.Aff == "" || b.Aff == w.Attr.Node {
+				free += len(b.Free)
+			}
+		}
+	}
+	if !open {
+		return 0, api.ErrNone
+	}
+	if free == 0 {
+		return 0, api.ErrFull
+	}
+	return min(free, w.N), api.OK
+}
+
 // others tells items of other things, which have nothing to do with the block.
 func others() map[string]string {
 	b, _ := block.New(base+64, "n1")
@@ -231,6 +348,12 @@ func aloneIn(t *testing.T, s *kv.State) {
 	}
 	for _, w := range []want{two, one, own, more} {
 		wantGrabbed(t, copied(s), w, "nothing")
+	}
+	for _, w := range []drop.What{ofH1, ofH2, ofH3, few, first, ofN1, ofBoth, {}} {
+		wantDropped(t, copied(s), w, "nothing")
+	}
+	for _, w := range []auto.Want{anyTwo, anyMany, anyAll, forGone, {Attr: attr("h", "n4"), N: 1}, {Attr: attr("h11", "n11"), N: 4096, Borrow: true}, {Attr: attr("h11", "n11"), N: 513}} {
+		wantGiven(t, copied(s), w, "nothing")
 	}
 	for _, node := range []string{"n1", "n1", "n11", "n2", "n3"} {
 		wantLeft(t, s, node, "nothing")

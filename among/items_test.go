@@ -33,8 +33,11 @@ const (
 func attr(handle, node string) block.Attr { return block.Attr{Handle: handle, Node: node} }
 
 // blockOf tells the bytes of the block at base that is aff's, and of which n addresses are given under two attributes.
-func blockOf(aff string, n int) string {
-	b, _ := block.New(base, aff)
+func blockOf(aff string, n int) string { return blockAt(base, aff, n) }
+
+// blockAt tells those of the block of addr.
+func blockAt(addr uint32, aff string, n int) string {
+	b, _ := block.New(addr, aff)
 	b, _, _ = block.Assign(b, n/2, attr("h1", "n1"))
 	b, _, _ = block.Assign(b, n-n/2, attr("h2", "n2"))
 	return put(b)

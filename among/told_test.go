@@ -1,16 +1,21 @@
 package among
 
 import (
+	"math"
 	"math/rand"
 	"slices"
+	"strings"
 	"testing"
 
 	"virgate/api"
+	"virgate/auto"
 	"virgate/claim"
+	"virgate/drop"
 	"virgate/grab"
 	"virgate/kv"
 	"virgate/leave"
 	"virgate/mach"
+	"virgate/names"
 )
 
 // ending is what somebody ended with.
@@ -53,6 +58,26 @@ func pairs() []pair {
 			func(p *mach.Proc, end func(l []uint32, e api.Errno)) { grab.Go(p, base+3, w, end) },
 			func(ask asker) ([]uint32, api.Errno) { return grabByWords(ask, base+3, w) }})
 	}
+	for _, w := range []drop.What{ofH1, few, ofBoth, {Kind: drop.List, L: someOf(base, 64)}, {Kind: 4, L: few.L, ID: "h1"}} {
+		// No block that is told is given to more than two handles.
+		l = append(l, pair{"drop", drop.Bound(2), 1,
+			func(p *mach.Proc, end func(l []uint32, e api.Errno)) { drop.Go(p, base+3, w, end) },
+			func(ask asker) ([]uint32, api.Errno) { return dropByWords(ask, base+3, w) }})
+	}
+	for _, w := range []auto.Want{anyTwo, {Attr: anyTwo.Attr, N: 300}, {Attr: anyTwo.Attr, N: 300, Borrow: true}} {
+		l = append(l, pair{"give", math.MaxInt, 150,
+			func(p *mach.Proc, end func(l []uint32, e api.Errno)) { auto.Go(p, w, end) },
+			func(ask asker) ([]uint32, api.Errno) { return autoByWords(ask, w) }})
+	}
+	return l
+}
+
+// someOf tells n addresses from addr on.
+func someOf(addr uint32, n int) []uint32 {
+	var l []uint32
+	for k := range n {
+		l = append(l, addr+uint32(k))
+	}
 	return l
 }
 
@@ -73,9 +98,26 @@ func anyPools(chance *rand.Rand) []kv.Item {
 	return l
 }
 
+// nets are the blocks of the pool 10.0.0.0/24, and others, as they stand in keys.
+var nets = []string{"10.0.0.0-26", "10.0.0.128-26", "10.0.0.192-26", "10.0.0.64-26", "10.0.1.0-26", "10.0.0.0-27", ""}
+
+// anyItems tells what may be listed under start, right or not, but never two of one key.
+func anyItems(chance *rand.Rand, start string) []kv.Item {
+	if start == "pool/" {
+		return anyPools(chance)
+	}
+	var l []kv.Item
+	for _, net := range nets {
+		if chance.Intn(3) == 0 {
+			l = append(l, kv.Item{Key: start + net, Val: anyVal(chance), Rev: int64(chance.Intn(3))})
+		}
+	}
+	return l
+}
+
 // anyTold tells what may be told, right or not.
-func anyTold(chance *rand.Rand) kv.Result {
-	r := kv.Result{Rev: int64(chance.Intn(3)) - 1, Val: anyVal(chance), Items: anyPools(chance)}
+func anyTold(chance *rand.Rand, o kv.Op) kv.Result {
+	r := kv.Result{Rev: int64(chance.Intn(3)) - 1, Val: anyVal(chance), Items: anyItems(chance, o.Key)}
 	if chance.Intn(5) == 0 {
 		r.Code = api.Errno(chance.Intn(15))
 	}
@@ -84,25 +126,49 @@ func anyTold(chance *rand.Rand) kv.Result {
 
 // likely tells what fits to what is asked, for the most part, so that one goes on for long.
 func likely(chance *rand.Rand, o kv.Op) kv.Result {
+	if chance.Intn(25) == 0 {
+		return anyTold(chance, o)
+	}
 	rev := 5 + int64(chance.Intn(2))
+	switch o.Kind {
+	case kv.List:
+		return kv.Result{Rev: rev, Items: likelyItems(chance, o.Key, rev)}
+	case kv.Get:
+		return likelyFound(chance, o.Key, rev)
+	}
+	isAff, isBlock := strings.HasPrefix(o.Key, "aff/"), strings.HasPrefix(o.Key, "block/")
 	switch {
-	case chance.Intn(25) == 0:
-		return anyTold(chance)
-	case o.Kind == kv.List:
-		return kv.Result{Rev: rev, Items: []kv.Item{{Key: "pool/10.0.0.0-16", Val: closedPool, Rev: 2}, {Key: poolKey, Val: openPool, Rev: rev}}}
-	case o.Kind != kv.Get && (o.Key == blkKey && chance.Intn(6) > 0 || o.Key != blkKey && o.Key != affKey && chance.Intn(2) > 0):
+	case isBlock && chance.Intn(6) > 0, !isBlock && !isAff && chance.Intn(2) > 0:
 		return refused(anyOf(chance, api.ErrStale, api.ErrThere, api.ErrNone, api.ErrArg))
-	case o.Kind != kv.Get && o.Key == affKey:
+	case isAff:
 		// A revision that stays lets those go on who look whether it does.
 		return kv.Result{Rev: 5}
-	case o.Kind != kv.Get:
-		return kv.Result{Rev: rev}
-	case o.Key == nodeKey:
+	}
+	return kv.Result{Rev: rev}
+}
+
+func likelyItems(chance *rand.Rand, start string, rev int64) []kv.Item {
+	if start == "pool/" {
+		return []kv.Item{{Key: "pool/10.0.0.0-16", Val: closedPool, Rev: 2}, {Key: poolKey, Val: openPool, Rev: rev}}
+	}
+	var l []kv.Item
+	for _, net := range nets {
+		if r := likelyFound(chance, start+net, rev); r.Code == api.OK {
+			l = append(l, kv.Item{Key: start + net, Val: r.Val, Rev: r.Rev})
+		}
+	}
+	return l
+}
+
+func likelyFound(chance *rand.Rand, key string, rev int64) kv.Result {
+	addr, isBlock := names.OfBlock(key)
+	switch {
+	case key == nodeKey:
 		return kv.Result{Rev: rev, Val: present}
-	case o.Key == affKey:
+	case strings.HasPrefix(key, "aff/"):
 		return anyOf(chance, refused(api.ErrNone), kv.Result{Rev: 5, Val: pending}, kv.Result{Rev: 5, Val: leaving}, kv.Result{Rev: 5, Val: leaving}, kv.Result{Rev: 5, Val: confirmed})
-	case o.Key == blkKey:
-		return anyOf(chance, refused(api.ErrNone), kv.Result{Rev: rev, Val: blockOf("", 3)}, kv.Result{Rev: rev, Val: blockOf("n1", 63)}, kv.Result{Rev: rev, Val: blockOf("n1", 0)}, kv.Result{Rev: rev, Val: blockOf("n2", chance.Intn(65))})
+	case isBlock:
+		return anyOf(chance, refused(api.ErrNone), kv.Result{Rev: rev, Val: blockAt(addr, "", 3)}, kv.Result{Rev: rev, Val: blockAt(addr, "n1", 63)}, kv.Result{Rev: rev, Val: blockAt(addr, "n1", 0)}, kv.Result{Rev: rev, Val: blockAt(addr, "n2", chance.Intn(65))})
 	}
 	return anyOf(chance, refused(api.ErrNone), kv.Result{Rev: rev, Val: handleOf(base, 1)}, kv.Result{Rev: rev, Val: handleOf(base, 64)}, kv.Result{Rev: rev, Val: handleOf(base+64, 3)})
 }
@@ -132,7 +198,7 @@ func TestWhateverIsTold(t *testing.T) {
 		for k := range 3000 {
 			tell := func(o kv.Op) kv.Result { return likely(chance, o) }
 			if k%4 == 0 {
-				tell = func(kv.Op) kv.Result { return anyTold(chance) }
+				tell = func(o kv.Op) kv.Result { return anyTold(chance, o) }
 			}
 			if k%2 == 0 {
 				tell = oftenAsAhead(chance, tell)

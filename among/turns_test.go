@@ -5,12 +5,15 @@ import (
 	"maps"
 	"math/rand"
 	"slices"
+	"strconv"
 	"strings"
 	"testing"
 
 	"virgate/api"
+	"virgate/auto"
 	"virgate/block"
 	"virgate/claim"
+	"virgate/drop"
 	"virgate/grab"
 	"virgate/kv"
 	"virgate/leave"
@@ -26,7 +29,7 @@ type want = grab.Want
 type actor struct {
 	name  string
 	gives block.Attr // under which it gives; the zero one, if it gives nothing
-	frees string     // the handle of which it frees
+	frees drop.What  // what it frees
 	start func(end func(l []uint32, e api.Errno)) (*mach.Proc, func())
 }
 
@@ -62,8 +65,16 @@ func grabs(w want) actor {
 	})}
 }
 
-func drops(id string) actor {
-	return actor{name: "drop " + id, frees: id, start: byWords(func(ask asker) ([]uint32, api.Errno) { return dropByWords(ask, base, id) })}
+func drops(w drop.What) actor {
+	return actor{name: fmt.Sprintf("drop %+v", w), frees: w, start: onward(func(p *mach.Proc, end func(l []uint32, e api.Errno)) {
+		drop.Go(p, base+60, w, end)
+	})}
+}
+
+func gives(w auto.Want) actor {
+	return actor{name: fmt.Sprintf("give %+v", w), gives: w.Attr, start: onward(func(p *mach.Proc, end func(l []uint32, e api.Errno)) {
+		auto.Go(p, w, end)
+	})}
 }
 
 func tidies() actor {
@@ -276,7 +287,7 @@ func (x *troupe) look(t *testing.T, p *part) {
 	for addr, a := range ahead {
 		if _, has := x.given[addr]; !has {
 			p.freed = append(p.freed, addr)
-			if a.Handle != p.frees {
+			if !isMeant(p.frees, addr, a) {
 				t.Fatalf("%d was given under %v, is free behind the turns %s", addr, a, x.story())
 			}
 		}
@@ -347,43 +358,88 @@ var (
 	more = want{N: 64, Attr: attr("h3", "n2")}
 )
 
+// What is given under a handle; some addresses, just one of which many have; what is given for nodes.
+var (
+	ofH1   = drop.What{Kind: drop.Handle, ID: "h1"}
+	ofH2   = drop.What{Kind: drop.Handle, ID: "h2"}
+	ofH3   = drop.What{Kind: drop.Handle, ID: "h3"}
+	few    = drop.What{Kind: drop.List, L: []uint32{base + 2, base, base + 70, base + 1, base + 2}}
+	first  = drop.What{Kind: drop.List, L: []uint32{base}}
+	ofN1   = drop.What{Kind: drop.Nodes, Nodes: []string{"n1"}}
+	ofBoth = drop.What{Kind: drop.Nodes, Nodes: []string{"n2", "n3", "n1"}}
+)
+
+// Addresses, wherever there are some: few, more than a block has, all that are free, some for a node that is gone.
+var (
+	anyTwo  = auto.Want{Attr: attr("h1", "n1"), N: 2}
+	anyMany = auto.Want{Attr: attr("h2", "n2"), N: 70}
+	anyAll  = auto.Want{Attr: attr("h3", "n2"), N: 300, Borrow: true}
+	forGone = auto.Want{Attr: attr("h1", "n3"), N: 2, Borrow: true}
+)
+
+// troupes tells who take turns in all ways that are not too many.
+func troupes() [][]actor {
+	return [][]actor{
+		{leaves("n1"), leaves("n1")},
+		{leaves("n1"), claims("n1")},
+		{leaves("n1"), claims("n2")},
+		{leaves("n1"), grabs(two)},
+		{leaves("n1"), grabs(own)},
+		{leaves("n1"), drops(ofH1)},
+		{claims("n1"), claims("n1")},
+		{claims("n1"), claims("n2")},
+		{claims("n1"), tidies()},
+		{claims("n1"), dropsPool()},
+		{claims("n1"), dropsNode("n1")},
+		{claims("n1"), grabs(two)},
+		{claims("n1"), drops(ofH1)},
+		{grabs(two), grabs(one)},
+		{grabs(one), grabs(one)},
+		{grabs(own), grabs(more)},
+		{grabs(two), drops(ofH1)},
+		{grabs(more), drops(ofH2)},
+		{grabs(one), drops(few)},
+		{grabs(two), drops(ofN1)},
+		{drops(ofH1), drops(ofH1)},
+		{drops(few), drops(first)},
+		{drops(ofN1), drops(ofBoth)},
+		{drops(few), tidies()},
+		{drops(ofBoth), dropsPool()},
+		{gives(anyTwo), leaves("n1")},
+		{gives(anyTwo), claims("n2")},
+		{gives(anyTwo), drops(ofBoth)},
+		{gives(anyTwo), grabs(more)},
+		{gives(anyTwo), tidies()},
+		{gives(anyTwo), dropsPool()},
+		{gives(anyTwo), dropsNode("n1")},
+		{gives(anyTwo), gives(anyTwo)},
+		{gives(anyTwo), gives(anyMany)},
+		{leaves("n1"), leaves("n1"), claims("n1")},
+		{leaves("n1"), claims("n1"), grabs(own)},
+		{leaves("n1"), leaves("n2"), tidies()},
+		{leaves("n1"), drops(ofH1), grabs(two)},
+		{claims("n1"), claims("n2"), leaves("n1")},
+		{claims("n1"), leaves("n1"), dropsPool()},
+		{claims("n1"), drops(ofH2), tidies()},
+		{grabs(two), grabs(one), drops(ofH1)},
+		{drops(few), drops(ofH2), drops(ofN1)},
+		{gives(anyTwo), claims("n2"), drops(ofBoth)},
+	}
+}
+
 // Two in all their turns that break one off at most twice, three in those that do so once: what holds stays so, and each is told at its end just what its steps did.
 func TestEveryTurn(t *testing.T) {
-	for _, s := range worlds() {
-		for _, l := range [][]actor{
-			{leaves("n1"), leaves("n1")},
-			{leaves("n1"), claims("n1")},
-			{leaves("n1"), claims("n2")},
-			{leaves("n1"), grabs(two)},
-			{leaves("n1"), grabs(own)},
-			{leaves("n1"), drops("h1")},
-			{claims("n1"), claims("n1")},
-			{claims("n1"), claims("n2")},
-			{claims("n1"), tidies()},
-			{claims("n1"), dropsPool()},
-			{claims("n1"), dropsNode("n1")},
-			{claims("n1"), grabs(two)},
-			{claims("n1"), drops("h1")},
-			{grabs(two), grabs(one)},
-			{grabs(one), grabs(one)},
-			{grabs(own), grabs(more)},
-			{grabs(two), drops("h1")},
-			{grabs(more), drops("h2")},
-			{leaves("n1"), leaves("n1"), claims("n1")},
-			{leaves("n1"), claims("n1"), grabs(own)},
-			{leaves("n1"), leaves("n2"), tidies()},
-			{leaves("n1"), drops("h1"), grabs(two)},
-			{claims("n1"), claims("n2"), leaves("n1")},
-			{claims("n1"), leaves("n1"), dropsPool()},
-			{claims("n1"), drops("h2"), tidies()},
-			{grabs(two), grabs(one), drops("h1")},
-		} {
-			breaks := 2
-			if len(l) > 2 {
-				breaks = 1
+	for k, s := range worlds() {
+		t.Run(strconv.Itoa(k), func(t *testing.T) {
+			t.Parallel()
+			for _, l := range troupes() {
+				breaks := 2
+				if len(l) > 2 {
+					breaks = 1
+				}
+				everyTurn(t, s, breaks, l...)
 			}
-			everyTurn(t, s, breaks, l...)
-		}
+		})
 	}
 }
 
@@ -392,7 +448,8 @@ func TestAnyTurn(t *testing.T) {
 	chance := rand.New(rand.NewSource(2140))
 	kinds := []actor{
 		leaves("n1"), leaves("n1"), leaves("n2"), leaves("n3"), claims("n1"), claims("n1"), claims("n2"), claims("n3"), claims("n4"),
-		grabs(two), grabs(two), grabs(one), grabs(own), grabs(more), drops("h1"), drops("h1"), drops("h2"), drops("h3"),
+		grabs(two), grabs(two), grabs(one), grabs(own), grabs(more), drops(ofH1), drops(ofH1), drops(ofH2), drops(ofH3), drops(few), drops(first), drops(ofN1), drops(ofBoth),
+		gives(anyTwo), gives(anyTwo), gives(anyMany), gives(anyAll), gives(forGone),
 		tidies(), dropsPool(), opensPool(), dropsNode("n1"),
 	}
 	l := worlds()
@@ -411,6 +468,12 @@ func TestAnyTurn(t *testing.T) {
 			wantClaimed(t, s, node, x.story())
 			wantLeft(t, s, node, x.story())
 			wantClaimed(t, s, node, x.story())
+		}
+		for _, w := range []drop.What{first, few, ofN1, ofH2, ofBoth} {
+			wantDropped(t, copied(x.state), w, x.story())
+		}
+		for _, w := range []auto.Want{anyTwo, anyMany, anyAll, forGone} {
+			wantGiven(t, copied(x.state), w, x.story())
 		}
 		for _, w := range []want{two, one, own, more, two} {
 			wantGrabbed(t, x.state, w, x.story())

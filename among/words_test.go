@@ -4,7 +4,6 @@ package among
 import (
 	"fmt"
 	"iter"
-	"maps"
 	"slices"
 
 	"virgate/api"
@@ -387,91 +386,4 @@ func giveByWords(ask asker, addr uint32, w want) ([]uint32, api.Errno) {
 		return nil, api.ErrFull
 	}
 	return l, writes(ask, update(key, put(b), r.Rev))
-}
-
-// dropByWords is chapter 23, of a handle: all that is given under it in the block is freed.
-func dropByWords(ask asker, addr uint32, id string) ([]uint32, api.Errno) {
-	key := "block/" + netOf(addr)
-	var b block.Block
-	var l []uint32
-	var rev int64
-	had := map[string]int{}
-	e := tries(func() api.Errno {
-		r := ask(get(key))
-		l = nil
-		if there, e := isThere(r); !there {
-			return e
-		}
-		b, _ = image.Read(r.Val)
-		clear(had)
-		for a, n := range b.Count() {
-			if a.Handle == id {
-				had[a.Handle] += n
-			}
-		}
-		if b, l, _ = block.ReleaseHandle(b, id); len(l) == 0 {
-			return api.OK
-		}
-		r = ask(update(key, put(b), r.Rev))
-		if rev = r.Rev; r.Code != api.OK {
-			return again
-		}
-		return api.OK
-	})
-	if e != api.OK || len(l) == 0 {
-		return nil, e
-	}
-	if b.Empty() && b.Aff == "" {
-		ask(remove(key, rev))
-	}
-	for _, h := range slices.Sorted(maps.Keys(had)) {
-		backByWords(ask, h, addr, had[h])
-	}
-	return l, api.OK
-}
-
-// tidyByWords is step 4 of chapter 29, of one block: it goes, if it is nobody's, and nothing of it is given.
-func tidyByWords(ask asker, addr uint32) {
-	key := "block/" + netOf(addr)
-	r := ask(get(key))
-	if b, e := image.Read(r.Val); e == api.OK && b.Aff == "" && b.Empty() {
-		ask(remove(key, r.Rev))
-	}
-}
-
-// setPoolByWords is what chapter 28 says of it.
-func setPoolByWords(ask asker, key string, val string) api.Errno {
-	return tries(func() api.Errno {
-		r := ask(get(key))
-		if r.Code == api.ErrNone {
-			return api.ErrNone
-		}
-		return writes(ask, update(key, val, r.Rev))
-	})
-}
-
-// dropPoolByWords is what chapter 28 says of it; all affinities and blocks that there are lie in the pool.
-func dropPoolByWords(ask asker, key string) api.Errno {
-	return tries(func() api.Errno {
-		r := ask(get(key))
-		if r.Code == api.ErrNone {
-			return api.ErrNone
-		}
-		if r.Val != closedPool || len(ask(list("aff/")).Items) > 0 || len(ask(list("block/")).Items) > 0 {
-			return api.ErrState
-		}
-		return writes(ask, remove(key, r.Rev))
-	})
-}
-
-// dropNodeByWords is what chapter 28 says of it.
-func dropNodeByWords(ask asker, name string) api.Errno {
-	key := "node/" + name
-	return tries(func() api.Errno {
-		r := ask(get(key))
-		if r.Code == api.ErrNone || r.Val == gone {
-			return r.Code
-		}
-		return writes(ask, update(key, gone, r.Rev))
-	})
 }
