@@ -11,6 +11,8 @@ import (
 	"virgate/block"
 	"virgate/claim"
 	"virgate/drop"
+	"virgate/exact"
+	"virgate/free"
 	"virgate/grab"
 	"virgate/handle"
 	"virgate/image"
@@ -87,14 +89,14 @@ func (m items) letGo(node string) {
 	m.write(blkKey, put(b))
 }
 
-// wantClaimed holds what node does to s that claims alone.
-func wantClaimed(t *testing.T, s *kv.State, node, story string) {
+// wantClaimed holds what node does to s that claims the block of addr alone, and tells what that ends with.
+func wantClaimed(t *testing.T, s *kv.State, node string, addr uint32, story string) api.Errno {
 	t.Helper()
-	aff := "aff/" + node + "/10.0.0.0-26"
+	aff, blk := "aff/"+node+"/"+netOf(addr), "block/"+netOf(addr)
 	v, _ := view.Of(s.All())
-	b, there := v.Block(base)
+	b, there := v.Block(addr)
 	isGone, known := v.Nodes[node]
-	pool, lies := v.PoolOf(base)
+	pool, lies := v.PoolOf(addr)
 	want, e := itemsOf(s), api.OK
 	switch {
 	case !lies || !pool.Open:
@@ -106,51 +108,53 @@ func wantClaimed(t *testing.T, s *kv.State, node, story string) {
 		delete(want, aff)
 	case want[aff].Val != confirmed:
 		if !there {
-			b, _ = block.New(base, node)
+			b, _ = block.New(addr, node)
 		}
 		b.Aff = node
-		want.write(blkKey, put(b))
-		want.touch(blkKey)
+		want.write(blk, put(b))
+		want.touch(blk)
 		want.write(aff, confirmed)
 	}
 	var ends []api.Errno
 	p := mach.New()
-	claim.Go(p, node, base+17, func(e api.Errno) { ends = append(ends, e) })
+	claim.Go(p, node, addr, func(e api.Errno) { ends = append(ends, e) })
 	if done := mach.Run(p, s.Do, 5+6); !done || !slices.Equal(ends, []api.Errno{e}) || !want.is(s) {
 		t.Fatalf("%s claims alone behind %q: ended %v, %v; left %#v; want %#v", node, story, done, ends, s.All(), want)
 	}
+	return e
 }
 
-// wantGrabbed holds what a want does to s alone.
-func wantGrabbed(t *testing.T, s *kv.State, w want, story string) {
+// wantGrabbed holds what a want of the block of addr does to s alone, and tells what that ends with.
+func wantGrabbed(t *testing.T, s *kv.State, addr uint32, w want, story string) ending {
 	t.Helper()
 	v, _ := view.Of(s.All())
-	b, there := v.Block(base)
+	b, there := v.Block(addr)
 	want, given := itemsOf(s), v.Given()
 	free, e := mayGrab(b, there, w)
 	key := "handle/" + w.Attr.Handle
 	want.touch(key)
 	if e == api.OK {
-		h, _ := handle.Add(v.Handles[w.Attr.Handle], base, len(free))
+		h, _ := handle.Add(v.Handles[w.Attr.Handle], addr, len(free))
 		val, _ := handle.Put(h)
 		want.write(key, val)
 		for _, addr := range free {
 			given[addr] = w.Attr
 		}
 	}
-	var told []uint32
-	var ends []api.Errno
+	var ends []ending
 	p := mach.New()
-	grab.Go(p, base+9, w, func(l []uint32, e api.Errno) { told, ends = l, append(ends, e) })
+	grab.Go(p, addr, w, func(l []uint32, e api.Errno) { ends = append(ends, ending{l, e}) })
 	done := mach.Run(p, s.Do, 4+2)
 	after, _ := view.Of(s.All())
-	if now, _ := after.Block(base); e == api.OK && now.Aff == b.Aff {
+	if now, _ := after.Block(addr); e == api.OK && now.Aff == b.Aff {
 		// What else the block has then is held by what is given.
-		want.write(blkKey, put(now))
+		want.write("block/"+netOf(addr), put(now))
 	}
-	if !done || !slices.Equal(ends, []api.Errno{e}) || !slices.Equal(told, free) || !maps.Equal(after.Given(), given) || !want.is(s) {
-		t.Fatalf("%+v alone behind %q: ended %v, %v with %v; left %#v; want %d, %v, %#v", w, story, done, ends, told, s.All(), e, free, want)
+	end := ending{free, e}
+	if !done || !slices.EqualFunc(ends, []ending{end}, ending.is) || !maps.Equal(after.Given(), given) || !want.is(s) {
+		t.Fatalf("%+v alone behind %q: ended %v, %v; left %#v; want %v, %#v", w, story, done, ends, s.All(), end, want)
 	}
+	return end
 }
 
 // mayGrab tells what of b a want is given alone, or why nothing is.
@@ -183,11 +187,11 @@ func freeOf(b block.Block, w want) []uint32 {
 	return l
 }
 
-// wantDropped holds what dropping w alone does to s.
-func wantDropped(t *testing.T, s *kv.State, w drop.What, story string) {
+// wantDropped holds what dropping w of the block of addr alone does to s, and tells what is freed.
+func wantDropped(t *testing.T, s *kv.State, addr uint32, w drop.What, story string) []uint32 {
 	t.Helper()
 	v, _ := view.Of(s.All())
-	b, _ := v.Block(base)
+	b, _ := v.Block(addr)
 	want, l := itemsOf(s), meantByWords(b, w)
 	if len(l) > 0 {
 		want.free(v, b, l)
@@ -195,20 +199,22 @@ func wantDropped(t *testing.T, s *kv.State, w drop.What, story string) {
 	var told []uint32
 	var ends []api.Errno
 	p := mach.New()
-	drop.Go(p, base+9, w, func(l []uint32, e api.Errno) { told, ends = l, append(ends, e) })
-	done := mach.Run(p, s.Do, 3+2*len(v.Handles))
+	drop.Go(p, addr, w, func(l []uint32, e api.Errno) { told, ends = l, append(ends, e) })
+	done := mach.Run(p, s.Do, 3+2*len(perHandle(b)))
 	if !done || !slices.Equal(ends, []api.Errno{api.OK}) || !slices.Equal(told, l) || !want.is(s) {
 		t.Fatalf("%+v is dropped alone behind %q: ended %v, %v with %v; left %#v; want %v, %#v", w, story, done, ends, told, s.All(), l, want)
 	}
+	return l
 }
 
 // free lets l, all of which are given in b, not be given any more, nor counted.
 func (m items) free(v view.View, b block.Block, l []uint32) {
 	had := perHandle(b)
 	b, _, _ = block.Release(b, l)
-	m.write(blkKey, put(b))
+	blk := "block/" + netOf(b.Addr)
+	m.write(blk, put(b))
 	if len(b.Free) == 64 && b.Aff == "" {
-		delete(m, blkKey)
+		delete(m, blk)
 	}
 	has := perHandle(b)
 	for id, h := range v.Handles {
@@ -216,13 +222,47 @@ func (m items) free(v view.View, b block.Block, l []uint32) {
 			continue
 		}
 		key := "handle/" + id
-		h, _ = handle.Set(h, base, h.Of(base)-had[id]+has[id])
+		h, _ = handle.Set(h, b.Addr, max(h.Of(b.Addr)-had[id]+has[id], 0))
 		val, _ := handle.Put(h)
 		m.write(key, val)
 		m.touch(key)
 		if h.Total() == 0 {
 			delete(m, key)
 		}
+	}
+}
+
+// wantGivenOne holds what giving just addr alone does to s: what claiming does, and behind that, if the block is the node's then, or somebody else's, grabbing.
+func wantGivenOne(t *testing.T, s *kv.State, a block.Attr, addr uint32, story string) {
+	t.Helper()
+	want := copied(s)
+	end := ending{nil, wantClaimed(t, want, a.Node, addr, story)}
+	if end.e == api.OK || end.e == api.ErrTaken {
+		end = wantGrabbed(t, want, addr, grab.Want{One: true, At: addr, Attr: a}, story)
+	}
+	var ends []ending
+	p := mach.New()
+	exact.Go(p, a, addr, func(l []uint32, e api.Errno) { ends = append(ends, ending{l, e}) })
+	if done := mach.Run(p, s.Do, 5+6+4+2); !done || !slices.EqualFunc(ends, []ending{end}, ending.is) || !kv.Same(s, want) {
+		t.Fatalf("%d is given alone under %v behind %q: ended %v, %v; left %#v; want %v, %#v", addr, a, story, done, ends, s.All(), end, want.All())
+	}
+}
+
+// wantFreed holds what freeing l alone does to s: of each block, one behind the other, what dropping does.
+func wantFreed(t *testing.T, s *kv.State, l []uint32, story string) {
+	t.Helper()
+	want, end := copied(s), ending{}
+	for k := range slices.Max(l)/64 - base/64 + 2 {
+		addr := base + 64*(k-1)
+		if slices.ContainsFunc(l, func(a uint32) bool { return a/64 == addr/64 }) {
+			end.l = append(end.l, wantDropped(t, want, addr, drop.What{Kind: drop.List, L: l}, story)...)
+		}
+	}
+	var ends []ending
+	p := mach.New()
+	free.Go(p, l, func(l []uint32, e api.Errno) { ends = append(ends, ending{l, e}) })
+	if done := mach.Run(p, s.Do, 9999); !done || !slices.EqualFunc(ends, []ending{end}, ending.is) || !kv.Same(s, want) {
+		t.Fatalf("%v is freed alone behind %q: ended %v, %v; left %#v; want %v, %#v", l, story, done, ends, s.All(), end, want.All())
 	}
 }
 
@@ -343,14 +383,20 @@ func aloneIn(t *testing.T, s *kv.State) {
 		t.Fatalf("there is what is no record: %#v", s.All())
 	} else if wrong(v) == "" {
 		for _, node := range []string{"n1", "n2", "n3", "n4", "n11"} {
-			wantClaimed(t, copied(s), node, "nothing")
+			wantClaimed(t, copied(s), node, base+17, "nothing")
+			for _, addr := range []uint32{base, base + 2, base + 63, base + 70, base + 256, base - 1} {
+				wantGivenOne(t, copied(s), attr("h1", node), addr, "nothing")
+			}
 		}
 	}
 	for _, w := range []want{two, one, own, more} {
-		wantGrabbed(t, copied(s), w, "nothing")
+		wantGrabbed(t, copied(s), base+9, w, "nothing")
 	}
 	for _, w := range []drop.What{ofH1, ofH2, ofH3, few, first, ofN1, ofBoth, {}} {
-		wantDropped(t, copied(s), w, "nothing")
+		wantDropped(t, copied(s), base+9, w, "nothing")
+	}
+	for _, l := range [][]uint32{ofTwo, ofOne, {base + 63}, someOf(base-64, 400)} {
+		wantFreed(t, copied(s), l, "nothing")
 	}
 	for _, w := range []auto.Want{anyTwo, anyMany, anyAll, forGone, {Attr: attr("h", "n4"), N: 1}, {Attr: attr("h11", "n11"), N: 4096, Borrow: true}, {Attr: attr("h11", "n11"), N: 513}} {
 		wantGiven(t, copied(s), w, "nothing")

@@ -11,6 +11,8 @@ import (
 	"virgate/auto"
 	"virgate/claim"
 	"virgate/drop"
+	"virgate/exact"
+	"virgate/free"
 	"virgate/grab"
 	"virgate/kv"
 	"virgate/leave"
@@ -68,6 +70,17 @@ func pairs() []pair {
 		l = append(l, pair{"give", math.MaxInt, 150,
 			func(p *mach.Proc, end func(l []uint32, e api.Errno)) { auto.Go(p, w, end) },
 			func(ask asker) ([]uint32, api.Errno) { return autoByWords(ask, w) }})
+	}
+	for _, addr := range []uint32{base + 3, base + 63, base + 64} {
+		l = append(l, pair{"exact", exact.Bound(), 60,
+			func(p *mach.Proc, end func(l []uint32, e api.Errno)) { exact.Go(p, two.Attr, addr, end) },
+			func(ask asker) ([]uint32, api.Errno) { return exactByWords(ask, two.Attr, addr) }})
+	}
+	for _, addrs := range [][]uint32{few.L, someOf(base+32, 64), {base + 200, base + 64, base + 130, base + 65, base + 1, base + 64}, {base + 1}} {
+		blocks := len(free.Group(addrs))
+		l = append(l, pair{"free", blocks * drop.Bound(2), 20,
+			func(p *mach.Proc, end func(l []uint32, e api.Errno)) { free.Go(p, addrs, end) },
+			func(ask asker) ([]uint32, api.Errno) { return freeByWords(ask, addrs) }})
 	}
 	return l
 }

@@ -14,7 +14,10 @@ import (
 	"virgate/block"
 	"virgate/claim"
 	"virgate/drop"
+	"virgate/exact"
+	"virgate/free"
 	"virgate/grab"
+	"virgate/handle"
 	"virgate/kv"
 	"virgate/leave"
 	"virgate/mach"
@@ -77,6 +80,18 @@ func gives(w auto.Want) actor {
 	})}
 }
 
+func givesOne(a block.Attr, addr uint32) actor {
+	return actor{name: fmt.Sprintf("give %d under %+v", addr, a), gives: a, start: onward(func(p *mach.Proc, end func(l []uint32, e api.Errno)) {
+		exact.Go(p, a, addr, end)
+	})}
+}
+
+func frees(l []uint32) actor {
+	return actor{name: fmt.Sprintf("free %v", l), frees: drop.What{Kind: drop.List, L: l}, start: onward(func(p *mach.Proc, end func(l []uint32, e api.Errno)) {
+		free.Go(p, l, end)
+	})}
+}
+
 func tidies() actor {
 	return actor{name: "tidy", start: byWords(func(ask asker) ([]uint32, api.Errno) {
 		tidyByWords(ask, base)
@@ -118,6 +133,25 @@ func world(affs map[string]string, blk string) *kv.State {
 	return s
 }
 
+// withNext tells s with the block behind that one, of which 3 are given, and which is aff's.
+func withNext(s *kv.State, aff string) *kv.State {
+	b := blockAt(base+64, aff, 3)
+	s.Do(kv.Op{Kind: kv.Create, Key: "block/10.0.0.64-26", Val: b})
+	if aff != "" {
+		s.Do(kv.Op{Kind: kv.Create, Key: "aff/" + aff + "/10.0.0.64-26", Val: confirmed})
+	}
+	for _, key := range slices.Sorted(maps.Keys(handlesOf(b))) {
+		r := s.Do(get(key))
+		h, _ := handle.Read(r.Val)
+		more, _ := handle.Read(handlesOf(b)[key])
+		h, _ = handle.Add(h, base+64, more.Total())
+		val, _ := handle.Put(h)
+		s.Do(kv.Op{Kind: kv.Create, Key: key, Val: val})
+		s.Do(update(key, val, r.Rev))
+	}
+	return s
+}
+
 // worlds tells states in which all that must hold holds.
 func worlds() []*kv.State {
 	var l []*kv.State
@@ -132,6 +166,7 @@ func worlds() []*kv.State {
 			l = append(l, world(map[string]string{"n1": val, "n2": confirmed}, blockOf("n2", n)))
 		}
 	}
+	l = append(l, withNext(world(map[string]string{"n1": confirmed}, blockOf("n1", 3)), "n2"), withNext(world(nil, blockOf("", 2)), ""))
 	return append(l, world(nil, ""), world(nil, blockOf("", 3)), world(map[string]string{"n1": confirmed}, blockOf("n1", 63)))
 }
 
@@ -181,8 +216,8 @@ func perHandle(b block.Block) map[string]int {
 	return n
 }
 
-// exact tells whether the handles of v have just what is given, once it is known that none has less.
-func exact(v view.View) bool {
+// isExact tells whether the handles of v have just what is given, once it is known that none has less.
+func isExact(v view.View) bool {
 	total := 0
 	for _, h := range v.Handles {
 		total += h.Total()
@@ -316,7 +351,7 @@ func (x *troupe) play(t *testing.T, path []int) [][]int {
 		x.step(t, k)
 	}
 	// So few turns tire nobody out, so that all that was counted too much was taken back.
-	if v, _ := view.Of(x.state.All()); !exact(v) {
+	if v, _ := view.Of(x.state.All()); !isExact(v) {
 		t.Fatalf("counted is not what is given behind the turns %s: %#v", x.story(), x.state.All())
 	}
 	return asked
@@ -377,6 +412,21 @@ var (
 	forGone = auto.Want{Attr: attr("h1", "n3"), N: 2, Borrow: true}
 )
 
+// Addresses of two blocks, the later one first; two of the block that most do something with.
+var (
+	ofTwo = []uint32{base + 66, base + 1, base + 64, base}
+	ofOne = []uint32{base + 2, base + 4}
+)
+
+// Just one address that is free for the most part, for each of two nodes, and for one that is gone; one that is given for the most part; one of the next block.
+var (
+	oneOfH1   = givesOne(attr("h1", "n1"), base+4)
+	oneOfH2   = givesOne(attr("h2", "n2"), base+4)
+	oneOfGone = givesOne(attr("h1", "n3"), base+4)
+	oneGiven  = givesOne(attr("h2", "n1"), base+1)
+	oneNext   = givesOne(attr("h1", "n1"), base+67)
+)
+
 // troupes tells who take turns in all ways that are not too many.
 func troupes() [][]actor {
 	return [][]actor{
@@ -414,6 +464,27 @@ func troupes() [][]actor {
 		{gives(anyTwo), dropsNode("n1")},
 		{gives(anyTwo), gives(anyTwo)},
 		{gives(anyTwo), gives(anyMany)},
+		{oneOfH1, oneOfH1},
+		{oneOfH1, oneOfH2},
+		{oneOfH2, oneGiven},
+		{oneOfH1, leaves("n1")},
+		{oneOfH1, claims("n2")},
+		{oneOfH1, grabs(one)},
+		{oneOfH2, drops(ofH2)},
+		{oneOfH1, tidies()},
+		{oneOfH1, dropsPool()},
+		{oneOfH1, dropsNode("n1")},
+		{oneOfH1, frees(ofOne)},
+		{oneGiven, frees(ofTwo)},
+		{frees(ofTwo), frees(ofTwo)},
+		{frees(ofTwo), frees(ofOne)},
+		{frees(ofTwo), drops(ofH1)},
+		{frees(ofTwo), grabs(two)},
+		{frees(ofTwo), leaves("n1")},
+		{frees(ofTwo), claims("n2")},
+		{frees(ofTwo), tidies()},
+		{frees(ofTwo), dropsPool()},
+		{frees(ofTwo), gives(anyTwo)},
 		{leaves("n1"), leaves("n1"), claims("n1")},
 		{leaves("n1"), claims("n1"), grabs(own)},
 		{leaves("n1"), leaves("n2"), tidies()},
@@ -424,6 +495,9 @@ func troupes() [][]actor {
 		{grabs(two), grabs(one), drops(ofH1)},
 		{drops(few), drops(ofH2), drops(ofN1)},
 		{gives(anyTwo), claims("n2"), drops(ofBoth)},
+		{oneOfH1, oneOfH2, frees(ofOne)},
+		{oneOfH1, oneOfH2, leaves("n1")},
+		{frees(ofTwo), frees(ofOne), oneGiven},
 	}
 }
 
@@ -450,6 +524,7 @@ func TestAnyTurn(t *testing.T) {
 		leaves("n1"), leaves("n1"), leaves("n2"), leaves("n3"), claims("n1"), claims("n1"), claims("n2"), claims("n3"), claims("n4"),
 		grabs(two), grabs(two), grabs(one), grabs(own), grabs(more), drops(ofH1), drops(ofH1), drops(ofH2), drops(ofH3), drops(few), drops(first), drops(ofN1), drops(ofBoth),
 		gives(anyTwo), gives(anyTwo), gives(anyMany), gives(anyAll), gives(forGone),
+		oneOfH1, oneOfH1, oneOfH2, oneOfH2, oneOfGone, oneGiven, oneNext, frees(ofTwo), frees(ofTwo), frees(ofOne), frees(someOf(base-1, 300)),
 		tidies(), dropsPool(), opensPool(), dropsNode("n1"),
 	}
 	l := worlds()
@@ -465,18 +540,24 @@ func TestAnyTurn(t *testing.T) {
 		x.dismiss()
 		for _, node := range []string{"n1", "n2", "n3", "n4"} {
 			s := copied(x.state)
-			wantClaimed(t, s, node, x.story())
+			wantClaimed(t, s, node, base+17, x.story())
 			wantLeft(t, s, node, x.story())
-			wantClaimed(t, s, node, x.story())
+			wantClaimed(t, s, node, base+17, x.story())
 		}
 		for _, w := range []drop.What{first, few, ofN1, ofH2, ofBoth} {
-			wantDropped(t, copied(x.state), w, x.story())
+			wantDropped(t, copied(x.state), base+60, w, x.story())
 		}
 		for _, w := range []auto.Want{anyTwo, anyMany, anyAll, forGone} {
 			wantGiven(t, copied(x.state), w, x.story())
 		}
+		for _, addr := range []uint32{base, base + 4, base + 66} {
+			wantGivenOne(t, copied(x.state), attr("h2", "n2"), addr, x.story())
+		}
+		for _, l := range [][]uint32{ofTwo, ofOne, someOf(base-1, 300)} {
+			wantFreed(t, copied(x.state), l, x.story())
+		}
 		for _, w := range []want{two, one, own, more, two} {
-			wantGrabbed(t, x.state, w, x.story())
+			wantGrabbed(t, x.state, base+5, w, x.story())
 		}
 	}
 }
