@@ -6,9 +6,12 @@ import (
 	"strings"
 	"testing"
 
+	"virgate/admin"
 	"virgate/api"
 	"virgate/auto"
 	"virgate/block"
+	"virgate/byhand"
+	"virgate/cidr"
 	"virgate/claim"
 	"virgate/drop"
 	"virgate/exact"
@@ -19,6 +22,7 @@ import (
 	"virgate/kv"
 	"virgate/leave"
 	"virgate/mach"
+	"virgate/recs"
 	"virgate/view"
 )
 
@@ -266,6 +270,150 @@ func wantFreed(t *testing.T, s *kv.State, l []uint32, story string) {
 	}
 }
 
+// wantByHand holds all that is done by hand, with whatever handle, pool or node, each alone behind s.
+func wantByHand(t *testing.T, s *kv.State, story string) {
+	t.Helper()
+	for _, id := range []string{"h1", "h2", "h3", "h"} {
+		c := copied(s)
+		wantLookedUp(t, c, id, story)
+		wantHandleFreed(t, c, id, story)
+		wantLookedUp(t, c, id, story)
+	}
+	for _, n := range []cidr.Net{pool24, pool23, nextNet, farNet} {
+		c := copied(s)
+		wantPoolAdded(t, c, n, story)
+		wantPoolDropped(t, c, n, story)
+		wantPoolSet(t, c, n, true, story)
+		wantPoolDropped(t, c, n, story)
+		wantPoolSet(t, c, n, false, story)
+		wantPoolDropped(t, c, n, story)
+		wantPoolAdded(t, c, n, story)
+	}
+	for _, name := range []string{"n1", "n3", "n4", "n5"} {
+		c := copied(s)
+		wantNodeDropped(t, c, name, story)
+		wantNodeAdded(t, c, name, story)
+		wantNodeDropped(t, c, name, story)
+		wantNodeAdded(t, c, name, story)
+	}
+}
+
+// wantHandleFreed holds what freeing a handle alone does to s: of each block that it counts, one behind the other, what dropping does.
+func wantHandleFreed(t *testing.T, s *kv.State, id, story string) {
+	t.Helper()
+	v, _ := view.Of(s.All())
+	want, end := copied(s), ending{nil, api.ErrNone}
+	if h, there := v.Handles[id]; there {
+		end.e = api.OK
+		for _, c := range h.Counts {
+			end.l = append(end.l, wantDropped(t, want, c.Block, drop.What{Kind: drop.Handle, ID: id}, story)...)
+		}
+	}
+	var ends []ending
+	p := mach.New()
+	byhand.Go(p, id, func(l []uint32, e api.Errno) { ends = append(ends, ending{l, e}) })
+	if done := mach.Run(p, s.Do, 9999); !done || !slices.EqualFunc(ends, []ending{end}, ending.is) || !kv.Same(s, want) {
+		t.Fatalf("%s is freed alone behind %q: ended %v, %v; left %#v; want %v, %#v", id, story, done, ends, s.All(), end, want.All())
+	}
+}
+
+// wantLookedUp holds what is told of a handle alone, and that nothing changes: what is given under it, in blocks that it counts.
+func wantLookedUp(t *testing.T, s *kv.State, id, story string) {
+	t.Helper()
+	v, _ := view.Of(s.All())
+	want, end := copied(s), ending{nil, api.ErrNone}
+	if h, there := v.Handles[id]; there {
+		end.e = api.OK
+		given := v.Given()
+		for _, addr := range slices.Sorted(maps.Keys(given)) {
+			if given[addr].Handle == id && h.Of(addr) > 0 {
+				end.l = append(end.l, addr)
+			}
+		}
+	}
+	var ends []ending
+	p := mach.New()
+	byhand.Look(p, id, func(l []uint32, e api.Errno) { ends = append(ends, ending{l, e}) })
+	if done := mach.Run(p, s.Do, 9999); !done || !slices.EqualFunc(ends, []ending{end}, ending.is) || !kv.Same(s, want) {
+		t.Fatalf("%s is looked up alone behind %q: ended %v, %v; want %v", id, story, done, ends, end)
+	}
+}
+
+// wantChanged holds that what f does alone ends with e, and leaves just that.
+func wantChanged(t *testing.T, s *kv.State, want items, e api.Errno, what, story string, f func(p *mach.Proc, then func(e api.Errno))) {
+	t.Helper()
+	var ends []api.Errno
+	p := mach.New()
+	f(p, func(e api.Errno) { ends = append(ends, e) })
+	if done := mach.Run(p, s.Do, 4); !done || !slices.Equal(ends, []api.Errno{e}) || !want.is(s) {
+		t.Fatalf("to %s alone behind %q: ended %v, %v; left %#v; want %d, %#v", what, story, done, ends, s.All(), e, want)
+	}
+}
+
+// wantPoolAdded holds what adding the pool n alone does to s: it comes just if it meets no other one.
+func wantPoolAdded(t *testing.T, s *kv.State, n cidr.Net, story string) {
+	t.Helper()
+	v, _ := view.Of(s.All())
+	want, e := itemsOf(s), api.ErrTaken
+	want.write("lock", "L")
+	want.touch("lock")
+	if !slices.ContainsFunc(v.Pools, func(p recs.Pool) bool { return meet(p.Net, n) }) {
+		e = api.OK
+		want.write(poolKeyOf(n), poolVal(n, true))
+	}
+	wantChanged(t, s, want, e, "add "+cidr.Print(n), story, func(p *mach.Proc, then func(e api.Errno)) { admin.AddPool(p, n, then) })
+}
+
+// wantPoolSet holds what letting the pool n be open, or not, alone does to s.
+func wantPoolSet(t *testing.T, s *kv.State, n cidr.Net, open bool, story string) {
+	t.Helper()
+	want, e := itemsOf(s), api.ErrNone
+	if _, there := want[poolKeyOf(n)]; there {
+		e = api.OK
+		want.write(poolKeyOf(n), poolVal(n, open))
+		want.touch(poolKeyOf(n))
+	}
+	wantChanged(t, s, want, e, "set "+cidr.Print(n), story, func(p *mach.Proc, then func(e api.Errno)) { admin.SetPool(p, n, open, then) })
+}
+
+// wantPoolDropped holds what dropping the pool n alone does to s: it goes just if it is there, not open, and no block, and no affinity lies in it.
+func wantPoolDropped(t *testing.T, s *kv.State, n cidr.Net, story string) {
+	t.Helper()
+	want, e := itemsOf(s), api.OK
+	it, there := want[poolKeyOf(n)]
+	switch {
+	case !there:
+		e = api.ErrNone
+	case it.Val == poolVal(n, true), anyIn(n, s.All()):
+		e = api.ErrState
+	default:
+		delete(want, it.Key)
+	}
+	wantChanged(t, s, want, e, "drop "+cidr.Print(n), story, func(p *mach.Proc, then func(e api.Errno)) { admin.DropPool(p, n, then) })
+}
+
+// wantNodeAdded holds what adding a node alone does to s: it comes just if it never was there.
+func wantNodeAdded(t *testing.T, s *kv.State, name, story string) {
+	t.Helper()
+	want, e := itemsOf(s), api.ErrThere
+	if _, there := want["node/"+name]; !there {
+		e = api.OK
+		want.write("node/"+name, present)
+	}
+	wantChanged(t, s, want, e, "add "+name, story, func(p *mach.Proc, then func(e api.Errno)) { admin.AddNode(p, name, then) })
+}
+
+// wantNodeDropped holds what dropping a node alone does to s.
+func wantNodeDropped(t *testing.T, s *kv.State, name, story string) {
+	t.Helper()
+	want, e := itemsOf(s), api.ErrNone
+	if _, there := want["node/"+name]; there {
+		e = api.OK
+		want.write("node/"+name, gone)
+	}
+	wantChanged(t, s, want, e, "drop "+name, story, func(p *mach.Proc, then func(e api.Errno)) { admin.DropNode(p, name, then) })
+}
+
 // wantGiven holds what giving w alone does to s.
 func wantGiven(t *testing.T, s *kv.State, w auto.Want, story string) {
 	t.Helper()
@@ -398,6 +546,7 @@ func aloneIn(t *testing.T, s *kv.State) {
 	for _, l := range [][]uint32{ofTwo, ofOne, {base + 63}, someOf(base-64, 400)} {
 		wantFreed(t, copied(s), l, "nothing")
 	}
+	wantByHand(t, s, "nothing")
 	for _, w := range []auto.Want{anyTwo, anyMany, anyAll, forGone, {Attr: attr("h", "n4"), N: 1}, {Attr: attr("h11", "n11"), N: 4096, Borrow: true}, {Attr: attr("h11", "n11"), N: 513}} {
 		wantGiven(t, copied(s), w, "nothing")
 	}

@@ -5,6 +5,7 @@ import (
 
 	"virgate/api"
 	"virgate/block"
+	"virgate/cidr"
 	"virgate/handle"
 	"virgate/image"
 	"virgate/kv"
@@ -28,6 +29,14 @@ const (
 	gone       = "N\x01"
 	openPool   = "P\x0a\x00\x00\x00\x18\x01"
 	closedPool = "P\x0a\x00\x00\x00\x18\x00"
+)
+
+// Nets of pools: that of the one that is there, one that has it, the one behind it, and one that has nothing to do with any of these.
+var (
+	pool24  = cidr.Net{Addr: base, Bits: 24}
+	pool23  = cidr.Net{Addr: base, Bits: 23}
+	nextNet = cidr.Net{Addr: base + 256, Bits: 24}
+	farNet  = cidr.Net{Addr: 11 << 24, Bits: 26}
 )
 
 func attr(handle, node string) block.Attr { return block.Attr{Handle: handle, Node: node} }
@@ -54,8 +63,15 @@ func handlesOf(blk string) map[string]string {
 }
 
 // handleOf tells the bytes of a handle that has n in a block.
-func handleOf(block uint32, n int) string {
-	val, e := handle.Put(handle.Handle{Counts: []handle.Count{{Block: block, N: n}}})
+func handleOf(block uint32, n int) string { return handleOfAll(handle.Count{Block: block, N: n}) }
+
+// handleOfFour tells those of one that has some in each block of the pool.
+func handleOfFour() string {
+	return handleOfAll(handle.Count{Block: base, N: 2}, handle.Count{Block: base + 64, N: 65535}, handle.Count{Block: base + 128, N: 1}, handle.Count{Block: base + 192, N: 3})
+}
+
+func handleOfAll(l ...handle.Count) string {
+	val, e := handle.Put(handle.Handle{Counts: l})
 	if e != api.OK {
 		panic("a handle that is not right")
 	}

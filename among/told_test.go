@@ -7,8 +7,11 @@ import (
 	"strings"
 	"testing"
 
+	"virgate/admin"
 	"virgate/api"
 	"virgate/auto"
+	"virgate/byhand"
+	"virgate/cidr"
 	"virgate/claim"
 	"virgate/drop"
 	"virgate/exact"
@@ -82,6 +85,53 @@ func pairs() []pair {
 			func(p *mach.Proc, end func(l []uint32, e api.Errno)) { free.Go(p, addrs, end) },
 			func(ask asker) ([]uint32, api.Errno) { return freeByWords(ask, addrs) }})
 	}
+	return append(l, pairsByHand()...)
+}
+
+// pairsByHand tells those of what is done by hand: handles, pools and nodes.
+func pairsByHand() []pair {
+	l := []pair{
+		// No handle that is told has more than four Counts, no block is given to more than two handles.
+		{"free a handle", 1 + 4*drop.Bound(2), 40,
+			func(p *mach.Proc, end func(l []uint32, e api.Errno)) { byhand.Go(p, "h1", end) },
+			func(ask asker) ([]uint32, api.Errno) { return freeHandleByWords(ask, "h1") }},
+		{"look a handle up", 1 + 4, 5,
+			func(p *mach.Proc, end func(l []uint32, e api.Errno)) { byhand.Look(p, "h1", end) },
+			func(ask asker) ([]uint32, api.Errno) { return lookByWords(ask, "h1") }},
+		{"add a node", api.Retries, 6,
+			func(p *mach.Proc, end func(l []uint32, e api.Errno)) {
+				admin.AddNode(p, "n1", func(e api.Errno) { end(nil, e) })
+			},
+			func(ask asker) ([]uint32, api.Errno) { return nil, addNodeByWords(ask, "n1") }},
+		{"drop a node", 2 * api.Retries, 12,
+			func(p *mach.Proc, end func(l []uint32, e api.Errno)) {
+				admin.DropNode(p, "n1", func(e api.Errno) { end(nil, e) })
+			},
+			func(ask asker) ([]uint32, api.Errno) { return nil, dropNodeByWords(ask, "n1") }},
+	}
+	for _, n := range []cidr.Net{pool24, pool23, nextNet, farNet} {
+		reach := 4
+		if n == farNet {
+			reach = 24
+		}
+		l = append(l, pair{"add a pool", admin.Bound(), reach,
+			func(p *mach.Proc, end func(l []uint32, e api.Errno)) {
+				admin.AddPool(p, n, func(e api.Errno) { end(nil, e) })
+			},
+			func(ask asker) ([]uint32, api.Errno) { return nil, addPoolByWords(ask, n) }})
+		l = append(l, pair{"drop a pool", admin.Bound(), reach,
+			func(p *mach.Proc, end func(l []uint32, e api.Errno)) {
+				admin.DropPool(p, n, func(e api.Errno) { end(nil, e) })
+			},
+			func(ask asker) ([]uint32, api.Errno) { return nil, dropPoolByWords(ask, n) }})
+		for _, open := range []bool{true, false} {
+			l = append(l, pair{"set a pool", 2 * api.Retries, 12,
+				func(p *mach.Proc, end func(l []uint32, e api.Errno)) {
+					admin.SetPool(p, n, open, func(e api.Errno) { end(nil, e) })
+				},
+				func(ask asker) ([]uint32, api.Errno) { return nil, setPoolByWords(ask, n, open) }})
+		}
+	}
 	return l
 }
 
@@ -98,7 +148,7 @@ func someOf(addr uint32, n int) []uint32 {
 func anyOf[T any](chance *rand.Rand, l ...T) T { return l[chance.Intn(len(l))] }
 
 func anyVal(chance *rand.Rand) string {
-	return anyOf(chance, pending, confirmed, leaving, present, gone, blockOf("n1", 0), blockOf("n2", 3), blockOf("", 64), handleOf(base, 3), handleOf(base, 65535), handleOf(base+64, 1), "H\x00\x00", "", "A\x09")
+	return anyOf(chance, pending, confirmed, leaving, present, gone, blockOf("n1", 0), blockOf("n2", 3), blockOf("", 64), handleOf(base, 3), handleOf(base, 65535), handleOf(base+64, 1), handleOfFour(), openPool, closedPool, "H\x00\x00", "", "A\x09")
 }
 
 // anyPools tells what may be listed as pools: some are right, open, have the address, or not.
@@ -114,13 +164,25 @@ func anyPools(chance *rand.Rand) []kv.Item {
 // nets are the blocks of the pool 10.0.0.0/24, and others, as they stand in keys.
 var nets = []string{"10.0.0.0-26", "10.0.0.128-26", "10.0.0.192-26", "10.0.0.64-26", "10.0.1.0-26", "10.0.0.0-27", ""}
 
+// netsUnder tells what stands in keys behind start: of all affinities a node's name ahead of each net, for the most part.
+func netsUnder(chance *rand.Rand, start string) []string {
+	if start != "aff/" || chance.Intn(4) == 0 {
+		return nets
+	}
+	var l []string
+	for _, net := range nets {
+		l = append(l, anyOf(chance, "n1/", "n2/", "n11/")+net)
+	}
+	return l
+}
+
 // anyItems tells what may be listed under start, right or not, but never two of one key.
 func anyItems(chance *rand.Rand, start string) []kv.Item {
 	if start == "pool/" {
 		return anyPools(chance)
 	}
 	var l []kv.Item
-	for _, net := range nets {
+	for _, net := range netsUnder(chance, start) {
 		if chance.Intn(3) == 0 {
 			l = append(l, kv.Item{Key: start + net, Val: anyVal(chance), Rev: int64(chance.Intn(3))})
 		}
@@ -165,7 +227,7 @@ func likelyItems(chance *rand.Rand, start string, rev int64) []kv.Item {
 		return []kv.Item{{Key: "pool/10.0.0.0-16", Val: closedPool, Rev: 2}, {Key: poolKey, Val: openPool, Rev: rev}}
 	}
 	var l []kv.Item
-	for _, net := range nets {
+	for _, net := range netsUnder(chance, start) {
 		if r := likelyFound(chance, start+net, rev); r.Code == api.OK {
 			l = append(l, kv.Item{Key: start + net, Val: r.Val, Rev: r.Rev})
 		}
@@ -178,12 +240,14 @@ func likelyFound(chance *rand.Rand, key string, rev int64) kv.Result {
 	switch {
 	case key == nodeKey:
 		return kv.Result{Rev: rev, Val: present}
+	case strings.HasPrefix(key, "pool/"):
+		return anyOf(chance, refused(api.ErrNone), kv.Result{Rev: rev, Val: closedPool}, kv.Result{Rev: rev, Val: closedPool}, kv.Result{Rev: rev, Val: closedPool}, kv.Result{Rev: rev, Val: openPool})
 	case strings.HasPrefix(key, "aff/"):
 		return anyOf(chance, refused(api.ErrNone), kv.Result{Rev: 5, Val: pending}, kv.Result{Rev: 5, Val: leaving}, kv.Result{Rev: 5, Val: leaving}, kv.Result{Rev: 5, Val: confirmed})
 	case isBlock:
 		return anyOf(chance, refused(api.ErrNone), kv.Result{Rev: rev, Val: blockAt(addr, "", 3)}, kv.Result{Rev: rev, Val: blockAt(addr, "n1", 63)}, kv.Result{Rev: rev, Val: blockAt(addr, "n1", 0)}, kv.Result{Rev: rev, Val: blockAt(addr, "n2", chance.Intn(65))})
 	}
-	return anyOf(chance, refused(api.ErrNone), kv.Result{Rev: rev, Val: handleOf(base, 1)}, kv.Result{Rev: rev, Val: handleOf(base, 64)}, kv.Result{Rev: rev, Val: handleOf(base+64, 3)})
+	return anyOf(chance, refused(api.ErrNone), kv.Result{Rev: rev, Val: handleOf(base, 1)}, kv.Result{Rev: rev, Val: handleOf(base, 64)}, kv.Result{Rev: rev, Val: handleOf(base+64, 3)}, kv.Result{Rev: rev, Val: handleOfFour()})
 }
 
 // oftenAsAhead tells what tell does, but for the most part what was told of the like ahead: that leads to the last try.

@@ -9,9 +9,12 @@ import (
 	"strings"
 	"testing"
 
+	"virgate/admin"
 	"virgate/api"
 	"virgate/auto"
 	"virgate/block"
+	"virgate/byhand"
+	"virgate/cidr"
 	"virgate/claim"
 	"virgate/drop"
 	"virgate/exact"
@@ -33,6 +36,7 @@ type actor struct {
 	name  string
 	gives block.Attr // under which it gives; the zero one, if it gives nothing
 	frees drop.What  // what it frees
+	looks string     // the handle that it looks up, if it does that
 	start func(end func(l []uint32, e api.Errno)) (*mach.Proc, func())
 }
 
@@ -99,21 +103,49 @@ func tidies() actor {
 	})}
 }
 
-func dropsPool() actor {
-	return actor{name: "close and drop the pool", start: byWords(func(ask asker) ([]uint32, api.Errno) {
-		setPoolByWords(ask, poolKey, closedPool)
-		return nil, dropPoolByWords(ask, poolKey)
+// changes tells somebody who is told nothing but an error.
+func changes(what string, f func(p *mach.Proc, then func(e api.Errno))) actor {
+	return actor{name: what, start: onward(func(p *mach.Proc, end func(l []uint32, e api.Errno)) {
+		f(p, func(e api.Errno) { end(nil, e) })
 	})}
 }
 
-func opensPool() actor {
-	return actor{name: "open the pool", start: byWords(func(ask asker) ([]uint32, api.Errno) {
-		return nil, setPoolByWords(ask, poolKey, openPool)
-	})}
+func dropsPool() actor {
+	return changes("close and drop the pool", func(p *mach.Proc, then func(e api.Errno)) {
+		admin.SetPool(p, pool24, false, func(api.Errno) { admin.DropPool(p, pool24, then) })
+	})
+}
+
+func justDropsPool() actor {
+	return changes("drop the pool", func(p *mach.Proc, then func(e api.Errno)) { admin.DropPool(p, pool24, then) })
+}
+
+func setsPool(open bool) actor {
+	return changes(fmt.Sprintf("let the pool be open: %v", open), func(p *mach.Proc, then func(e api.Errno)) { admin.SetPool(p, pool24, open, then) })
+}
+
+func addsPool(n cidr.Net) actor {
+	return changes("add the pool "+cidr.Print(n), func(p *mach.Proc, then func(e api.Errno)) { admin.AddPool(p, n, then) })
+}
+
+func addsNode(name string) actor {
+	return changes("add "+name, func(p *mach.Proc, then func(e api.Errno)) { admin.AddNode(p, name, then) })
 }
 
 func dropsNode(name string) actor {
-	return actor{name: "drop " + name, start: byWords(func(ask asker) ([]uint32, api.Errno) { return nil, dropNodeByWords(ask, name) })}
+	return changes("drop "+name, func(p *mach.Proc, then func(e api.Errno)) { admin.DropNode(p, name, then) })
+}
+
+func freesHandle(id string) actor {
+	return actor{name: "free " + id, frees: drop.What{Kind: drop.Handle, ID: id}, start: onward(func(p *mach.Proc, end func(l []uint32, e api.Errno)) {
+		byhand.Go(p, id, end)
+	})}
+}
+
+func looksUp(id string) actor {
+	return actor{name: "look " + id + " up", looks: id, start: onward(func(p *mach.Proc, end func(l []uint32, e api.Errno)) {
+		byhand.Look(p, id, end)
+	})}
 }
 
 // world tells a state of a pool, three nodes of which one is gone, affinities by their nodes, and the block, if it is not empty, with the handles that it has.
@@ -179,6 +211,11 @@ func copied(s *kv.State) *kv.State {
 // wrong tells what does not hold in s.
 func wrong(v view.View) string {
 	owners := map[uint32]int{}
+	for k, p := range v.Pools {
+		if slices.ContainsFunc(v.Pools[:k], func(ahead recs.Pool) bool { return meet(p.Net, ahead.Net) }) {
+			return "two pools meet"
+		}
+	}
 	for a, state := range v.Affs {
 		b, there := v.Block(a.Block)
 		if state == recs.Confirmed && (!there || b.Aff != a.Node) {
@@ -239,15 +276,22 @@ type part struct {
 
 // troupe is several that take turns at one state.
 type troupe struct {
-	state *kv.State
-	given map[uint32]block.Attr
-	parts []*part
-	turns []int // who took them
+	state  *kv.State
+	seen   view.View // what is there
+	given  map[uint32]block.Attr
+	ever   map[string][]uint32 // what was given at some time, by handles
+	always map[string][]uint32 // what was given all the time, by handles
+	parts  []*part
+	turns  []int // who took them
 }
 
 func gather(s *kv.State, l []actor) *troupe {
 	v, _ := view.Of(s.All())
-	x := &troupe{state: copied(s), given: v.Given()}
+	x := &troupe{state: copied(s), seen: v, given: v.Given(), ever: map[string][]uint32{}, always: map[string][]uint32{}}
+	for addr, a := range x.given {
+		x.ever[a.Handle] = append(x.ever[a.Handle], addr)
+		x.always[a.Handle] = append(x.always[a.Handle], addr)
+	}
 	for _, a := range l {
 		p := &part{actor: a}
 		p.proc, p.stop = a.start(func(l []uint32, e api.Errno) { p.told, p.e, p.ended = l, e, true })
@@ -298,7 +342,7 @@ func (x *troupe) step(t *testing.T, k int) {
 	if x.state.Rev() != rev {
 		x.look(t, p)
 	}
-	if p.ended && !p.toldWhatItDid() {
+	if p.ended && !x.mayBeTold(p) {
 		t.Fatalf("%s ended with %v, %d; gave %v, freed %v behind the turns %s", p.name, p.told, p.e, p.gave, p.freed, x.story())
 	}
 }
@@ -310,6 +354,10 @@ func (x *troupe) look(t *testing.T, p *part) {
 	if w := wrong(v); e != api.OK || w != "" {
 		t.Fatalf("%d, %s behind the turns %s: %#v", e, w, x.story(), x.state.All())
 	}
+	if w := lostIn(x.seen, v); w != "" {
+		t.Fatalf("%s behind the turns %s: %#v", w, x.story(), x.state.All())
+	}
+	x.seen = v
 	ahead := x.given
 	x.given = v.Given()
 	for addr, a := range x.given {
@@ -317,16 +365,51 @@ func (x *troupe) look(t *testing.T, p *part) {
 			t.Fatalf("%d was given under %v, is given under %v behind the turns %s", addr, was, a, x.story())
 		} else if !had {
 			p.gave = append(p.gave, addr)
+			x.ever[a.Handle] = append(x.ever[a.Handle], addr)
 		}
 	}
 	for addr, a := range ahead {
 		if _, has := x.given[addr]; !has {
 			p.freed = append(p.freed, addr)
+			x.always[a.Handle] = slices.DeleteFunc(x.always[a.Handle], func(b uint32) bool { return b == addr })
 			if !isMeant(p.frees, addr, a) {
 				t.Fatalf("%d was given under %v, is free behind the turns %s", addr, a, x.story())
 			}
 		}
 	}
+}
+
+// lostIn tells what may not be gone, or come again, by what was there ahead and what is there now.
+func lostIn(ahead, now view.View) string {
+	for _, p := range ahead.Pools {
+		if p.Open && !slices.ContainsFunc(now.Pools, func(q recs.Pool) bool { return q.Net == p.Net }) {
+			return "a pool is gone that was open"
+		}
+	}
+	for name, was := range ahead.Nodes {
+		if is, there := now.Nodes[name]; !there || was && !is {
+			return name + " was gone, or was there"
+		}
+	}
+	return ""
+}
+
+// mayBeTold holds what p was told at its end: what its steps did; but who looks a handle up is told what was given under that, rising, and nothing less than what was so all the time.
+func (x *troupe) mayBeTold(p *part) bool {
+	if p.looks == "" {
+		return p.toldWhatItDid()
+	}
+	for k, addr := range p.told {
+		if !slices.Contains(x.ever[p.looks], addr) || k > 0 && p.told[k-1] >= addr {
+			return false
+		}
+	}
+	for _, addr := range x.always[p.looks] {
+		if !slices.Contains(p.told, addr) {
+			return false
+		}
+	}
+	return true
 }
 
 // toldWhatItDid holds what p was told at its end against what its steps did.
@@ -485,7 +568,43 @@ func troupes() [][]actor {
 		{frees(ofTwo), tidies()},
 		{frees(ofTwo), dropsPool()},
 		{frees(ofTwo), gives(anyTwo)},
+		{freesHandle("h1"), freesHandle("h1")},
+		{freesHandle("h1"), looksUp("h1")},
+		{freesHandle("h1"), frees(ofTwo)},
+		{freesHandle("h1"), drops(ofBoth)},
+		{freesHandle("h1"), grabs(two)},
+		{freesHandle("h2"), oneOfH2},
+		{freesHandle("h1"), gives(anyTwo)},
+		{freesHandle("h1"), leaves("n1")},
+		{freesHandle("h2"), claims("n2")},
+		{freesHandle("h1"), tidies()},
+		{freesHandle("h1"), dropsPool()},
+		{looksUp("h1"), grabs(two)},
+		{looksUp("h1"), drops(ofBoth)},
+		{looksUp("h2"), frees(ofTwo)},
+		{dropsPool(), dropsPool()},
+		{dropsPool(), setsPool(true)},
+		{dropsPool(), addsPool(pool24)},
+		{dropsPool(), addsPool(pool23)},
+		{dropsPool(), leaves("n1")},
+		{justDropsPool(), setsPool(false)},
+		{setsPool(false), claims("n1")},
+		{addsPool(pool23), addsPool(nextNet)},
+		{addsPool(nextNet), addsPool(nextNet)},
+		{addsPool(farNet), gives(anyAll)},
+		{addsNode("n4"), addsNode("n4")},
+		{addsNode("n4"), dropsNode("n4")},
+		{addsNode("n1"), dropsNode("n1")},
+		{dropsNode("n1"), dropsNode("n1")},
+		{addsNode("n4"), claims("n4")},
 		{leaves("n1"), leaves("n1"), claims("n1")},
+		{dropsPool(), setsPool(true), claims("n1")},
+		{dropsPool(), addsPool(pool23), claims("n1")},
+		{dropsPool(), addsPool(pool24), claims("n1")},
+		{addsPool(nextNet), addsPool(pool23), dropsPool()},
+		{freesHandle("h1"), looksUp("h1"), grabs(two)},
+		{freesHandle("h1"), freesHandle("h2"), tidies()},
+		{freesHandle("h1"), claims("n1"), leaves("n1")},
 		{leaves("n1"), claims("n1"), grabs(own)},
 		{leaves("n1"), leaves("n2"), tidies()},
 		{leaves("n1"), drops(ofH1), grabs(two)},
@@ -525,7 +644,8 @@ func TestAnyTurn(t *testing.T) {
 		grabs(two), grabs(two), grabs(one), grabs(own), grabs(more), drops(ofH1), drops(ofH1), drops(ofH2), drops(ofH3), drops(few), drops(first), drops(ofN1), drops(ofBoth),
 		gives(anyTwo), gives(anyTwo), gives(anyMany), gives(anyAll), gives(forGone),
 		oneOfH1, oneOfH1, oneOfH2, oneOfH2, oneOfGone, oneGiven, oneNext, frees(ofTwo), frees(ofTwo), frees(ofOne), frees(someOf(base-1, 300)),
-		tidies(), dropsPool(), opensPool(), dropsNode("n1"),
+		tidies(), dropsPool(), dropsPool(), setsPool(true), setsPool(true), justDropsPool(), addsPool(pool24), addsPool(pool23), addsPool(nextNet),
+		dropsNode("n1"), addsNode("n4"), freesHandle("h1"), freesHandle("h2"), freesHandle("h3"), looksUp("h1"), looksUp("h2"),
 	}
 	l := worlds()
 	for range 4000 {
@@ -556,6 +676,7 @@ func TestAnyTurn(t *testing.T) {
 		for _, l := range [][]uint32{ofTwo, ofOne, someOf(base-1, 300)} {
 			wantFreed(t, copied(x.state), l, x.story())
 		}
+		wantByHand(t, x.state, x.story())
 		for _, w := range []want{two, one, own, more, two} {
 			wantGrabbed(t, x.state, base+5, w, x.story())
 		}

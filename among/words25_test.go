@@ -23,10 +23,18 @@ func freeByWords(ask asker, l []uint32) ([]uint32, api.Errno) {
 	for _, addr := range l {
 		of[addr/64] = append(of[addr/64], addr)
 	}
+	return dropEach(ask, slices.Sorted(maps.Keys(of)), func(k uint32) (uint32, drop.What) {
+		return 64 * k, drop.What{Kind: drop.List, L: of[k]}
+	})
+}
+
+// dropEach drops, of each of l, what that tells of a block; an error is told only if nothing is freed at all.
+func dropEach(ask asker, l []uint32, what func(k uint32) (uint32, drop.What)) ([]uint32, api.Errno) {
 	var freed []uint32
 	var errors []api.Errno
-	for _, k := range slices.Sorted(maps.Keys(of)) {
-		some, e := dropByWords(ask, 64*k, drop.What{Kind: drop.List, L: of[k]})
+	for _, k := range l {
+		addr, w := what(k)
+		some, e := dropByWords(ask, addr, w)
 		freed = append(freed, some...)
 		if e != api.OK {
 			errors = append(errors, e)
