@@ -16,12 +16,14 @@ import (
 	"virgate/drop"
 	"virgate/exact"
 	"virgate/free"
+	"virgate/gc"
 	"virgate/grab"
 	"virgate/handle"
 	"virgate/image"
 	"virgate/kv"
 	"virgate/leave"
 	"virgate/mach"
+	"virgate/names"
 	"virgate/recs"
 	"virgate/view"
 )
@@ -414,6 +416,65 @@ func wantNodeDropped(t *testing.T, s *kv.State, name, story string) {
 	wantChanged(t, s, want, e, "drop "+name, story, func(p *mach.Proc, then func(e api.Errno)) { admin.DropNode(p, name, then) })
 }
 
+// wantCollected holds what collecting alone does to s, in which all holds that must.
+func wantCollected(t *testing.T, s *kv.State, story string) {
+	t.Helper()
+	v, _ := view.Of(s.All())
+	want, l := itemsOf(s), []uint32(nil)
+	hands := map[string]handle.Handle{}
+	for _, it := range s.All() {
+		addr, isBlock := names.OfBlock(it.Key)
+		node, _, isAff := names.OfAff(it.Key)
+		switch {
+		case isAff && (it.Val != confirmed || v.Nodes[node]):
+			delete(want, it.Key)
+		case isBlock:
+			b, some := want.collect(v, addr)
+			l = append(l, some...)
+			for id, n := range perHandle(b) {
+				hands[id], _ = handle.Set(hands[id], addr, n)
+			}
+		}
+	}
+	for id := range v.Handles {
+		if _, has := hands[id]; !has {
+			delete(want, "handle/"+id)
+		}
+		want.touch("handle/" + id)
+	}
+	for id, h := range hands {
+		want.write("handle/"+id, handleOfAll(h.Counts...))
+	}
+	var ends []ending
+	p, n := mach.New(), s.Len()
+	gc.Go(p, func(l []uint32, e api.Errno) { ends = append(ends, ending{l, e}) })
+	end := ending{l, api.OK}
+	if done := mach.Run(p, s.Do, gc.Bound(n)); !done || !slices.EqualFunc(ends, []ending{end}, ending.is) || !want.is(s) {
+		t.Fatalf("collected alone behind %q: ended %v, %v; left %#v; want %v, %#v", story, done, ends, s.All(), end, want)
+	}
+}
+
+// collect lets the block of addr be as it is behind collecting, by what was there ahead, and tells it, and what was freed of it.
+func (m items) collect(v view.View, addr uint32) (block.Block, []uint32) {
+	b, _ := v.Block(addr)
+	key := "block/" + netOf(addr)
+	if b.Aff != "" && (v.Nodes[b.Aff] || v.Affs[view.Aff{Node: b.Aff, Block: addr}] != recs.Confirmed) {
+		b.Aff = ""
+	}
+	var l []uint32
+	for _, node := range slices.Sorted(maps.Keys(v.Nodes)) {
+		if v.Nodes[node] {
+			l = append(l, ofNode(b, node)...)
+		}
+	}
+	b, _, _ = block.Release(b, l)
+	m.write(key, put(b))
+	if b.Aff == "" && len(b.Free) == 64 {
+		delete(m, key)
+	}
+	return b, l
+}
+
 // wantGiven holds what giving w alone does to s.
 func wantGiven(t *testing.T, s *kv.State, w auto.Want, story string) {
 	t.Helper()
@@ -536,6 +597,7 @@ func aloneIn(t *testing.T, s *kv.State) {
 				wantGivenOne(t, copied(s), attr("h1", node), addr, "nothing")
 			}
 		}
+		wantCollected(t, copied(s), "nothing")
 	}
 	for _, w := range []want{two, one, own, more} {
 		wantGrabbed(t, copied(s), base+9, w, "nothing")

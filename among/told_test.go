@@ -16,6 +16,7 @@ import (
 	"virgate/drop"
 	"virgate/exact"
 	"virgate/free"
+	"virgate/gc"
 	"virgate/grab"
 	"virgate/kv"
 	"virgate/leave"
@@ -85,6 +86,9 @@ func pairs() []pair {
 			func(p *mach.Proc, end func(l []uint32, e api.Errno)) { free.Go(p, addrs, end) },
 			func(ask asker) ([]uint32, api.Errno) { return freeByWords(ask, addrs) }})
 	}
+	l = append(l, pair{"collect", math.MaxInt, 90,
+		func(p *mach.Proc, end func(l []uint32, e api.Errno)) { gc.Go(p, end) },
+		collectByWords})
 	return append(l, pairsByHand()...)
 }
 
@@ -164,8 +168,14 @@ func anyPools(chance *rand.Rand) []kv.Item {
 // nets are the blocks of the pool 10.0.0.0/24, and others, as they stand in keys.
 var nets = []string{"10.0.0.0-26", "10.0.0.128-26", "10.0.0.192-26", "10.0.0.64-26", "10.0.1.0-26", "10.0.0.0-27", ""}
 
-// netsUnder tells what stands in keys behind start: of all affinities a node's name ahead of each net, for the most part.
-func netsUnder(chance *rand.Rand, start string) []string {
+// endsUnder tells what stands in keys behind start: nets, for the most part; names of nodes and handles; of all affinities a node's name ahead of each net.
+func endsUnder(chance *rand.Rand, start string) []string {
+	switch start {
+	case "node/":
+		return []string{"n3", "", "n1", "n/1", "n11", "n2"}
+	case "handle/":
+		return []string{"", "h0", "h1", "h/1", "h2", "h3"}
+	}
 	if start != "aff/" || chance.Intn(4) == 0 {
 		return nets
 	}
@@ -182,9 +192,9 @@ func anyItems(chance *rand.Rand, start string) []kv.Item {
 		return anyPools(chance)
 	}
 	var l []kv.Item
-	for _, net := range netsUnder(chance, start) {
+	for _, end := range endsUnder(chance, start) {
 		if chance.Intn(3) == 0 {
-			l = append(l, kv.Item{Key: start + net, Val: anyVal(chance), Rev: int64(chance.Intn(3))})
+			l = append(l, kv.Item{Key: start + end, Val: anyVal(chance), Rev: int64(chance.Intn(3))})
 		}
 	}
 	return l
@@ -227,9 +237,9 @@ func likelyItems(chance *rand.Rand, start string, rev int64) []kv.Item {
 		return []kv.Item{{Key: "pool/10.0.0.0-16", Val: closedPool, Rev: 2}, {Key: poolKey, Val: openPool, Rev: rev}}
 	}
 	var l []kv.Item
-	for _, net := range netsUnder(chance, start) {
-		if r := likelyFound(chance, start+net, rev); r.Code == api.OK {
-			l = append(l, kv.Item{Key: start + net, Val: r.Val, Rev: r.Rev})
+	for _, end := range endsUnder(chance, start) {
+		if r := likelyFound(chance, start+end, rev); r.Code == api.OK {
+			l = append(l, kv.Item{Key: start + end, Val: r.Val, Rev: r.Rev})
 		}
 	}
 	return l
@@ -240,6 +250,8 @@ func likelyFound(chance *rand.Rand, key string, rev int64) kv.Result {
 	switch {
 	case key == nodeKey:
 		return kv.Result{Rev: rev, Val: present}
+	case strings.HasPrefix(key, "node/"):
+		return kv.Result{Rev: rev, Val: anyOf(chance, present, gone, gone)}
 	case strings.HasPrefix(key, "pool/"):
 		return anyOf(chance, refused(api.ErrNone), kv.Result{Rev: rev, Val: closedPool}, kv.Result{Rev: rev, Val: closedPool}, kv.Result{Rev: rev, Val: closedPool}, kv.Result{Rev: rev, Val: openPool})
 	case strings.HasPrefix(key, "aff/"):

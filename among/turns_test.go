@@ -19,6 +19,7 @@ import (
 	"virgate/drop"
 	"virgate/exact"
 	"virgate/free"
+	"virgate/gc"
 	"virgate/grab"
 	"virgate/handle"
 	"virgate/kv"
@@ -37,6 +38,7 @@ type actor struct {
 	gives block.Attr // under which it gives; the zero one, if it gives nothing
 	frees drop.What  // what it frees
 	looks string     // the handle that it looks up, if it does that
+	gc    bool       // whether it collects, and so frees what was given for nodes that are gone
 	start func(end func(l []uint32, e api.Errno)) (*mach.Proc, func())
 }
 
@@ -94,6 +96,10 @@ func frees(l []uint32) actor {
 	return actor{name: fmt.Sprintf("free %v", l), frees: drop.What{Kind: drop.List, L: l}, start: onward(func(p *mach.Proc, end func(l []uint32, e api.Errno)) {
 		free.Go(p, l, end)
 	})}
+}
+
+func collects() actor {
+	return actor{name: "collect", gc: true, start: onward(gc.Go)}
 }
 
 func tidies() actor {
@@ -235,9 +241,16 @@ func wrong(v view.View) string {
 		if _, lies := v.PoolOf(b.Addr); !lies {
 			return "a block lies in no pool"
 		}
-		for a, n := range perHandle(b) {
-			if h := v.Handles[a]; h.Of(b.Addr) < n {
-				return "more is given than counted under " + a
+	}
+	return ""
+}
+
+// short tells under which handle more is given than counted.
+func short(v view.View) string {
+	for _, b := range v.Blocks {
+		for id, n := range perHandle(b) {
+			if h := v.Handles[id]; h.Of(b.Addr) < n {
+				return "more is given than counted under " + id
 			}
 		}
 	}
@@ -317,6 +330,11 @@ func (x *troupe) asking() []int {
 	return l
 }
 
+// collected tells whether one of them collects: by what blocks said a while ago a handle may then get fewer than somebody counted meanwhile, who then gives.
+func (x *troupe) collected() bool {
+	return slices.ContainsFunc(x.parts, func(p *part) bool { return p.gc })
+}
+
 // last tells who took the last turn, or -1.
 func (x *troupe) last() int {
 	if len(x.turns) == 0 {
@@ -351,7 +369,11 @@ func (x *troupe) step(t *testing.T, k int) {
 func (x *troupe) look(t *testing.T, p *part) {
 	t.Helper()
 	v, e := view.Of(x.state.All())
-	if w := wrong(v); e != api.OK || w != "" {
+	w := wrong(v)
+	if w == "" && !x.collected() {
+		w = short(v)
+	}
+	if e != api.OK || w != "" {
 		t.Fatalf("%d, %s behind the turns %s: %#v", e, w, x.story(), x.state.All())
 	}
 	if w := lostIn(x.seen, v); w != "" {
@@ -372,7 +394,7 @@ func (x *troupe) look(t *testing.T, p *part) {
 		if _, has := x.given[addr]; !has {
 			p.freed = append(p.freed, addr)
 			x.always[a.Handle] = slices.DeleteFunc(x.always[a.Handle], func(b uint32) bool { return b == addr })
-			if !isMeant(p.frees, addr, a) {
+			if !isMeant(p.frees, addr, a) && !(p.gc && x.seen.Nodes[a.Node]) {
 				t.Fatalf("%d was given under %v, is free behind the turns %s", addr, a, x.story())
 			}
 		}
@@ -394,7 +416,7 @@ func lostIn(ahead, now view.View) string {
 	return ""
 }
 
-// mayBeTold holds what p was told at its end: what its steps did; but who looks a handle up is told what was given under that, rising, and nothing less than what was so all the time.
+// mayBeTold holds what p was told at its end: what its steps did; but who looks a handle up is told what was given under that, rising, and nothing less than what was so all the time, if nobody collects.
 func (x *troupe) mayBeTold(p *part) bool {
 	if p.looks == "" {
 		return p.toldWhatItDid()
@@ -405,7 +427,7 @@ func (x *troupe) mayBeTold(p *part) bool {
 		}
 	}
 	for _, addr := range x.always[p.looks] {
-		if !slices.Contains(p.told, addr) {
+		if !slices.Contains(p.told, addr) && !x.collected() {
 			return false
 		}
 	}
@@ -432,6 +454,9 @@ func (x *troupe) play(t *testing.T, path []int) [][]int {
 		}
 		asked = append(asked, l)
 		x.step(t, k)
+	}
+	if x.collected() {
+		wantCollected(t, x.state, x.story())
 	}
 	// So few turns tire nobody out, so that all that was counted too much was taken back.
 	if v, _ := view.Of(x.state.All()); !isExact(v) {
@@ -597,6 +622,21 @@ func troupes() [][]actor {
 		{addsNode("n1"), dropsNode("n1")},
 		{dropsNode("n1"), dropsNode("n1")},
 		{addsNode("n4"), claims("n4")},
+		{collects(), collects()},
+		{collects(), leaves("n1")},
+		{collects(), claims("n1")},
+		{collects(), claims("n2")},
+		{collects(), grabs(two)},
+		{collects(), grabs(own)},
+		{collects(), drops(ofBoth)},
+		{collects(), gives(anyTwo)},
+		{collects(), oneOfH2},
+		{collects(), oneOfGone},
+		{collects(), frees(ofTwo)},
+		{collects(), freesHandle("h1")},
+		{collects(), looksUp("h1")},
+		{collects(), dropsPool()},
+		{collects(), dropsNode("n1")},
 		{leaves("n1"), leaves("n1"), claims("n1")},
 		{dropsPool(), setsPool(true), claims("n1")},
 		{dropsPool(), addsPool(pool23), claims("n1")},
@@ -617,6 +657,10 @@ func troupes() [][]actor {
 		{oneOfH1, oneOfH2, frees(ofOne)},
 		{oneOfH1, oneOfH2, leaves("n1")},
 		{frees(ofTwo), frees(ofOne), oneGiven},
+		{collects(), dropsNode("n1"), grabs(two)},
+		{collects(), dropsNode("n1"), claims("n1")},
+		{collects(), dropsNode("n1"), collects()},
+		{collects(), oneOfH1, leaves("n1")},
 	}
 }
 
@@ -645,7 +689,7 @@ func TestAnyTurn(t *testing.T) {
 		gives(anyTwo), gives(anyTwo), gives(anyMany), gives(anyAll), gives(forGone),
 		oneOfH1, oneOfH1, oneOfH2, oneOfH2, oneOfGone, oneGiven, oneNext, frees(ofTwo), frees(ofTwo), frees(ofOne), frees(someOf(base-1, 300)),
 		tidies(), dropsPool(), dropsPool(), setsPool(true), setsPool(true), justDropsPool(), addsPool(pool24), addsPool(pool23), addsPool(nextNet),
-		dropsNode("n1"), addsNode("n4"), freesHandle("h1"), freesHandle("h2"), freesHandle("h3"), looksUp("h1"), looksUp("h2"),
+		collects(), collects(), collects(), dropsNode("n1"), dropsNode("n2"), addsNode("n4"), freesHandle("h1"), freesHandle("h2"), freesHandle("h3"), looksUp("h1"), looksUp("h2"),
 	}
 	l := worlds()
 	for range 4000 {
@@ -677,6 +721,7 @@ func TestAnyTurn(t *testing.T) {
 			wantFreed(t, copied(x.state), l, x.story())
 		}
 		wantByHand(t, x.state, x.story())
+		wantCollected(t, copied(x.state), x.story())
 		for _, w := range []want{two, one, own, more, two} {
 			wantGrabbed(t, x.state, base+5, w, x.story())
 		}
